@@ -9,25 +9,13 @@ import (
 	"testing"
 
 	"strait/api"
+	"strait/scatter"
 )
 
 const (
 	lowest  = math.MinInt64
 	highest = math.MaxInt64
 )
-
-// scattered are n words of all kinds, always the same ones.
-func scattered(n int) []uint64 {
-	l := make([]uint64, n)
-	state := uint64(0x9E3779B97F4A7C15)
-	for i := range l {
-		state ^= state << 13
-		state ^= state >> 7
-		state ^= state << 17
-		l[i] = state
-	}
-	return l
-}
 
 // numbers are some of all sizes: near 0, near the powers of ten and of two, near the ends, and scattered ones.
 func numbers() []int64 {
@@ -47,7 +35,7 @@ func numbers() []int64 {
 		p := int64(1) << k
 		l = append(l, p-1, p, p+1, -p-1, -p, -p+1)
 	}
-	for i, b := range scattered(600) {
+	for i, b := range scatter.Words(1, 600) {
 		l = append(l, int64(b)>>(i%64))
 	}
 	return l
@@ -76,7 +64,7 @@ func shortTexts() []string {
 // longTexts are digits of lengths about which something turns, some with - or 0 ahead of them.
 func longTexts() []string {
 	var l []string
-	words := scattered(3000)
+	words := scatter.Words(1, 3000)
 	for i := 0; i+2 < len(words); i += 3 {
 		all := new(big.Int).SetUint64(words[i])
 		all.Mul(all, new(big.Int).SetUint64(words[i+1])).Add(all, new(big.Int).SetUint64(words[i+2]))
@@ -469,7 +457,7 @@ func TestReadAgainstLongNumbers(t *testing.T) {
 // P6.2: Read and List, of a text of many parts.
 func TestLongLists(t *testing.T) {
 	l := make([]int64, 1<<17)
-	for i, b := range scattered(len(l)) {
+	for i, b := range scatter.Words(1, len(l)) {
 		l[i] = int64(b) >> (i % 64)
 	}
 	s := List(l)

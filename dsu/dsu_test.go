@@ -6,6 +6,7 @@ import (
 	"testing"
 
 	"strait/api"
+	"strait/scatter"
 )
 
 // rooms are some of all sizes, up to the most there is.
@@ -14,19 +15,6 @@ var rooms = []int{0, 1, 2, 3, 4, 5, 7, 8, 9, 31, 64, 65, 130, 1000, api.MaxN - 1
 // noVertices are numbers that are no vertices where there are n of them.
 func noVertices(n int) []int {
 	return []int{-1, -2, -64, -api.MaxN, math.MinInt32, -1 << 32, math.MinInt, math.MinInt + 1, n, n + 1, n + 64, api.MaxN, api.MaxN + 1, 1 << 31, 1 << 32, 1<<32 + 1, math.MaxInt}
-}
-
-// scattered are count numbers from 0 to n - 1, always the same ones for one seed.
-func scattered(seed uint64, count, n int) []int {
-	l := make([]int, count)
-	state := seed*0x9E3779B97F4A7C15 | 1
-	for i := range l {
-		state ^= state << 13
-		state ^= state >> 7
-		state ^= state << 17
-		l[i] = int(state % uint64(n))
-	}
-	return l
 }
 
 // plain tells of each vertex what its class is called; all else is found by going over it.
@@ -278,7 +266,7 @@ func TestAllSmallWays(t *testing.T) {
 func TestManyCalls(t *testing.T) {
 	for seed, n := range []int{1, 2, 5, 17, 64, 65, 300, 1000, api.MaxN} {
 		c, p := New(n), newPlain(n)
-		l := scattered(uint64(seed)+3, 3*min(n, 700)+60, n+2)
+		l := scatter.Below(uint64(seed)+3, 3*min(n, 700)+60, n+2)
 		for i := range len(l) - 1 {
 			u, v := l[i]-1, l[i+1]-1 // from -1 to n
 			same := u >= 0 && u < n && v >= 0 && v < n && p[u] == p[v]
@@ -305,7 +293,7 @@ func TestManyCalls(t *testing.T) {
 func TestCountAndSize(t *testing.T) {
 	for _, n := range []int{2, 3, 10, 65, api.MaxN} {
 		c := New(n)
-		us, vs := scattered(1, 2*n, n), scattered(2, 2*n, n)
+		us, vs := scatter.Below(1, 2*n, n), scatter.Below(2, 2*n, n)
 		for i := range us {
 			u, v := us[i], vs[i]
 			same, both, count := c.Same(u, v), c.Size(u)+c.Size(v), c.Count()
@@ -364,7 +352,7 @@ func TestAllOrders(t *testing.T) {
 // P10.3: many joins, in some orders, with and without asking between them.
 func TestSomeOrders(t *testing.T) {
 	for _, n := range []int{3, 10, 65, 500, api.MaxN} {
-		us, vs := scattered(7, n*2/3, n), scattered(8, n*2/3, n)
+		us, vs := scatter.Below(7, n*2/3, n), scatter.Below(8, n*2/3, n)
 		var pairs [][2]int
 		first, p := New(n), newPlain(n)
 		for i := range us {
@@ -375,7 +363,7 @@ func TestSomeOrders(t *testing.T) {
 		holds(t, "first order", first, p)
 		for order := range 4 {
 			c := New(n)
-			for i, at := range scattered(uint64(order)+9, len(pairs), max(len(pairs), 1)) {
+			for i, at := range scatter.Below(uint64(order)+9, len(pairs), max(len(pairs), 1)) {
 				pairs[i], pairs[at] = pairs[at], pairs[i]
 			}
 			for i, e := range pairs {
@@ -399,7 +387,7 @@ func TestAskingChangesNothing(t *testing.T) {
 			c.Join(v-1, v)
 		}
 		all := make(plain, n)
-		for _, v := range scattered(5, 200, n) {
+		for _, v := range scatter.Below(5, 200, n) {
 			if c.Of(v) != 0 || c.Of(v) != 0 || c.Size(v) != n || !c.Same(v, n-1) || c.Join(v, n-1) {
 				t.Fatalf("%d of %d", v, n)
 			}

@@ -4,6 +4,8 @@ import (
 	"math"
 	"math/big"
 	"testing"
+
+	"strait/scatter"
 )
 
 const (
@@ -23,20 +25,7 @@ func patterns() []uint64 {
 			}
 		}
 	}
-	return append(l, scattered(4096)...)
-}
-
-// scattered are n words of all kinds, always the same ones.
-func scattered(n int) []uint64 {
-	l := make([]uint64, n)
-	state := uint64(0x9E3779B97F4A7C15)
-	for i := range l {
-		state ^= state << 13
-		state ^= state >> 7
-		state ^= state << 17
-		l[i] = state
-	}
-	return l
+	return append(l, scatter.Words(1, 4096)...)
 }
 
 func noNumber(b uint64) bool {
@@ -312,7 +301,7 @@ func TestMakeAgainstLongNumbers(t *testing.T) {
 			powers = append(powers, e)
 		}
 	}
-	far := scattered(1024)
+	far := scatter.Words(1, 1024)
 	made := 0
 	for k := range 64 {
 		p := uint64(1) << k

@@ -7,6 +7,7 @@ import (
 	"testing"
 
 	"strait/api"
+	"strait/scatter"
 )
 
 const (
@@ -30,19 +31,6 @@ func noNumbers() []float64 {
 	return l
 }
 
-// scattered are n words of all kinds, always the same ones.
-func scattered(n int) []uint64 {
-	l := make([]uint64, n)
-	state := uint64(0x9E3779B97F4A7C15)
-	for i := range l {
-		state ^= state << 13
-		state ^= state >> 7
-		state ^= state << 17
-		l[i] = state
-	}
-	return l
-}
-
 // floats are some of all kinds with either sign: about each power of two up to 2^66 their neighbours and the halves between numbers, the ends of all kinds, and scattered ones.
 func floats() []float64 {
 	l := append(noNumbers(), inf, 0, 5e-324, 1e-323, 1e-310, math.Nextafter(0x1p-1022, 0), 0x1p-1022, 1e-300, 1e300, 0x1p1023, math.MaxFloat64)
@@ -53,7 +41,7 @@ func floats() []float64 {
 		}
 		l = append(l, math.Nextafter(p, 0), math.Nextafter(p, inf))
 	}
-	for i, b := range scattered(4096) {
+	for i, b := range scatter.Words(1, 4096) {
 		l = append(l, math.Float64frombits(b), math.Ldexp(float64(b>>11), i%80-70))
 	}
 	for _, x := range slices.Clone(l) {
@@ -71,7 +59,7 @@ func numbers() []int64 {
 			l = append(l, p-off, p+off, -p-off, off-p)
 		}
 	}
-	for i, b := range scattered(4096) {
+	for i, b := range scatter.Words(1, 4096) {
 		n := int64(b) >> (i % 64)
 		l = append(l, n, n&^1023)
 	}

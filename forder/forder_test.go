@@ -5,6 +5,8 @@ import (
 	"math/big"
 	"slices"
 	"testing"
+
+	"strait/scatter"
 )
 
 var (
@@ -39,18 +41,14 @@ func ladder() []float64 {
 func scattered(n int) []float64 {
 	l := make([]float64, n)
 	known := append(ladder(), noNumbers()...)
-	state := uint64(0x9E3779B97F4A7C15)
-	for i := range l {
-		state ^= state << 13
-		state ^= state >> 7
-		state ^= state << 17
-		switch state >> 8 % 3 {
+	for i, word := range scatter.Words(1, n) {
+		switch word >> 8 % 3 {
 		case 0:
-			l[i] = known[state>>16%uint64(len(known))]
+			l[i] = known[word>>16%uint64(len(known))]
 		case 1:
-			l[i] = float64(int64(state>>16%9) - 4)
+			l[i] = float64(int64(word>>16%9) - 4)
 		default:
-			l[i] = math.Float64frombits(state)
+			l[i] = math.Float64frombits(word)
 		}
 	}
 	return l

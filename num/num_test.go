@@ -4,6 +4,8 @@ import (
 	"math"
 	"math/big"
 	"testing"
+
+	"strait/scatter"
 )
 
 const (
@@ -30,12 +32,8 @@ func brinks() []int64 {
 // scattered are n numbers of all sizes, always the same ones.
 func scattered(n int) []int64 {
 	l := make([]int64, n)
-	state := uint64(0x9E3779B97F4A7C15)
-	for i := range l {
-		state ^= state << 13
-		state ^= state >> 7
-		state ^= state << 17
-		l[i] = int64(state) >> (i % 64)
+	for i, word := range scatter.Words(1, n) {
+		l[i] = int64(word) >> (i % 64)
 	}
 	return l
 }

@@ -7,6 +7,7 @@ import (
 	"testing"
 
 	"strait/api"
+	"strait/scatter"
 )
 
 const (
@@ -32,19 +33,6 @@ func noNumbers() []float64 {
 	return l
 }
 
-// scattered are n words of all kinds, always the same ones.
-func scattered(n int) []uint64 {
-	l := make([]uint64, n)
-	state := uint64(0x9E3779B97F4A7C15)
-	for i := range l {
-		state ^= state << 13
-		state ^= state >> 7
-		state ^= state << 17
-		l[i] = state
-	}
-	return l
-}
-
 // finites are floats of all sizes that are numbers, with either sign: noughts, the ends of all kinds, short and full ones at some powers, and scattered ones.
 func finites() []float64 {
 	l := []float64{0, 5e-324, 1e-323, 1.5e-323, 1e-310, math.Nextafter(0x1p-1022, 0), 0x1p-1022, 1e-300, 0.1, 1e300, 0x1p1023, math.MaxFloat64}
@@ -53,7 +41,7 @@ func finites() []float64 {
 			l = append(l, math.Ldexp(m, k))
 		}
 	}
-	for i, b := range scattered(600) {
+	for i, b := range scatter.Words(1, 600) {
 		if x := math.Float64frombits(b); !math.IsNaN(x) && !math.IsInf(x, 0) {
 			l = append(l, x)
 		}
@@ -74,7 +62,7 @@ func numbers() []int64 {
 			l = append(l, p-off, p+off, -p-off, off-p)
 		}
 	}
-	for i, b := range scattered(400) {
+	for i, b := range scatter.Words(1, 400) {
 		n := int64(b) >> (i % 64)
 		l = append(l, n, n&^1023)
 	}

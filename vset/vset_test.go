@@ -6,6 +6,7 @@ import (
 	"testing"
 
 	"strait/api"
+	"strait/scatter"
 )
 
 // rooms are some of all sizes: all small ones, and those about the brinks of words and the most there is.
@@ -25,19 +26,6 @@ func noVertices(n int) []int {
 	return []int{-1, -2, -63, -64, -65, -4096, math.MinInt, math.MinInt + 1, n, n + 1, n + 63, n + 64, n + 65, api.MaxN, api.MaxN + 1, 1 << 31, 1 << 32, math.MaxInt}
 }
 
-// scattered are count numbers from 0 to n - 1, always the same ones.
-func scattered(count, n int) []int {
-	l := make([]int, count)
-	state := uint64(0x9E3779B97F4A7C15)
-	for i := range l {
-		state ^= state << 13
-		state ^= state >> 7
-		state ^= state << 17
-		l[i] = int(state % uint64(n))
-	}
-	return l
-}
-
 // some are lists of vertices of a room of n, rising: none, all, some by rules, and some by chance.
 func some(n int) [][]int {
 	var all, even, third, high []int
@@ -55,7 +43,7 @@ func some(n int) [][]int {
 	}
 	lists := [][]int{nil, all, even, third, high}
 	if n > 0 {
-		chance := scattered(n/2+1, n)
+		chance := scatter.Below(1, n/2+1, n)
 		slices.Sort(chance)
 		lists = append(lists, []int{0}, []int{n - 1}, all[1:], all[:n-1], slices.Compact(chance))
 	}
@@ -246,7 +234,7 @@ func TestAllSmallSets(t *testing.T) {
 func TestManyCalls(t *testing.T) {
 	for _, n := range []int{1, 5, 64, 65, 130, 4096} {
 		s, in, count := New(n), make([]bool, n), 0
-		for i, x := range scattered(20000, 3*n+6) {
+		for i, x := range scatter.Below(1, 20000, 3*n+6) {
 			v := x/3 - 1 // from -1 to n
 			fits := v >= 0 && v < n
 			switch was := fits && in[v]; x % 3 {
