@@ -53,17 +53,6 @@ func eachList(n int, of []api.Edge, see func(l []api.Edge)) {
 	from()
 }
 
-// manyEdges are edges that may be, of n vertices and of few and of many unlike pairs, with some from a vertex to itself and some of weight 0.
-func manyEdges(seed uint64, n, many int) []api.Edge {
-	l := make([]api.Edge, many)
-	ends := scatter.Below(seed, 2*many, n)
-	weights := scatter.Below(seed+1000, many, api.MaxW+1)
-	for i := range l {
-		l[i] = edge(ends[2*i], ends[2*i+1], int64(weights[i])>>(i%33))
-	}
-	return l
-}
-
 // turned is the list with the edges of every second place, or every third, the other way round.
 func turned(l []api.Edge, each int) []api.Edge {
 	l = slices.Clone(l)
@@ -388,10 +377,10 @@ func TestMergeOfAnyNumbers(t *testing.T) {
 func TestMergeOfLongLists(t *testing.T) {
 	for seed, n := range []int{1, 2, 3, 7, 20, 60} {
 		for _, many := range []int{5, 40, 300} {
-			checkMerge(t, manyEdges(uint64(seed+many), n, many))
+			checkMerge(t, scatter.Edges(uint64(seed+many), n, many))
 		}
 	}
-	l := manyEdges(99, 9, 200)
+	l := scatter.Edges(99, 9, 200)
 	for i := range l {
 		l[i].W -= api.MaxW / 3
 	}
@@ -656,7 +645,7 @@ func TestSplitIsMergedAgain(t *testing.T) {
 	}
 	eachList(3, edges(0, 1, 0, 1, 0, api.MaxW, 0, 1, api.MaxW+1, 2, 0, 3*api.MaxW-1, 1, 1, api.MaxW+9, 2, 1, 4*api.MaxW), check)
 	for seed := range uint64(20) {
-		l := manyEdges(seed, 2+int(seed), 60)
+		l := scatter.Edges(seed, 2+int(seed), 60)
 		merged, _ := Merge(l)
 		check(l)
 		check(merged)
@@ -679,7 +668,7 @@ func TestMergedAgain(t *testing.T) {
 	}
 	eachList(4, edges(0, 1, 2, 1, 0, highest, 0, 1, -1, 2, 0, lowest, 1, 1, 4, 2, 1, -7), check)
 	for seed := range uint64(20) {
-		check(manyEdges(seed, 1+int(seed)*2, 200))
+		check(scatter.Edges(seed, 1+int(seed)*2, 200))
 	}
 }
 
@@ -687,7 +676,7 @@ func TestMergedAgain(t *testing.T) {
 func TestMergedInAnyOrder(t *testing.T) {
 	for seed := range uint64(25) {
 		n := 1 + int(seed)*3
-		l := manyEdges(seed, n, 150)
+		l := scatter.Edges(seed, n, 150)
 		if why, at := Checks(n, l); why != api.OK {
 			t.Fatalf("%d at %d", why, at)
 		}

@@ -172,17 +172,6 @@ func eachList(n int, of []api.Edge, see func(l []api.Edge)) {
 	from()
 }
 
-// many are edges that may be, of n vertices, with some from a vertex to itself and some of weight 0.
-func many(seed uint64, n, m int) []api.Edge {
-	l := make([]api.Edge, m)
-	ends := scatter.Below(seed, 2*m, n)
-	weights := scatter.Below(seed+1000, m, api.MaxW+1)
-	for i := range l {
-		l[i] = api.Edge{U: ends[2*i], V: ends[2*i+1], W: int64(weights[i]) >> (i % 33)}
-	}
-	return l
-}
-
 // turned is the list backwards, with every second edge the other way round.
 func turned(l []api.Edge) []api.Edge {
 	l = slices.Clone(l)
@@ -344,7 +333,7 @@ func TestErrorsOfLongLists(t *testing.T) {
 func TestManyEdges(t *testing.T) {
 	for _, c := range []struct{ n, m int }{{1, 9}, {2, 50}, {5, 3}, {7, 200}, {30, 40}, {64, 64}, {65, 4000}, {200, 150}, {150, 20000}} {
 		for seed := range uint64(4) {
-			l := many(seed, c.n, c.m)
+			l := scatter.Edges(seed, c.n, c.m)
 			want := tableOf(c.n, l)
 			g, h := made(t, c.n, l), made(t, c.n, turned(l))
 			checkGraph(t, g, want)
@@ -359,7 +348,7 @@ func TestManyEdges(t *testing.T) {
 
 // P16.1 to P16.3: as many vertices as there may be.
 func TestMostVertices(t *testing.T) {
-	l := many(5, api.MaxN, 1<<16)
+	l := scatter.Edges(5, api.MaxN, 1<<16)
 	checkGraph(t, made(t, api.MaxN, l), tableOf(api.MaxN, l))
 }
 
@@ -441,7 +430,7 @@ func TestSame(t *testing.T) {
 
 // P16.2: of long lists one edge that differs is enough, whichever it is.
 func TestSameOfLongLists(t *testing.T) {
-	g := made(t, 90, many(8, 90, 600))
+	g := made(t, 90, scatter.Edges(8, 90, 600))
 	for i := range g.M() {
 		l := g.Edges()
 		l[i].W++
@@ -478,7 +467,7 @@ func TestListsAreNotKept(t *testing.T) {
 
 // P4: what is answered is new memory, up to its capacity.
 func TestAnswersAreNewMemory(t *testing.T) {
-	l := many(3, 20, 90)
+	l := scatter.Edges(3, 20, 90)
 	want := tableOf(20, l)
 	g := made(t, 20, l)
 	for _, told := range [][]api.Edge{g.Edges(), g.Edges()} {
@@ -518,7 +507,7 @@ func TestGraphsAreTheirOwn(t *testing.T) {
 
 // P5: what is told is the same each time, whatever was asked ahead, and of whatever graph.
 func TestAgain(t *testing.T) {
-	l := many(6, 40, 300)
+	l := scatter.Edges(6, 40, 300)
 	g := made(t, 40, l)
 	told := g.Edges()
 	for range 20 {

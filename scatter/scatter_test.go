@@ -4,6 +4,8 @@ import (
 	"math/bits"
 	"slices"
 	"testing"
+
+	"strait/api"
 )
 
 // Each seed has its own numbers, and has them each time.
@@ -58,6 +60,38 @@ func TestBelow(t *testing.T) {
 		}
 	}
 	if len(Below(3, 0, 5)) != 0 {
+		t.Error("none")
+	}
+}
+
+// All edges may be; some are from a vertex to itself, some weigh nothing and some much, and each seed has its own.
+func TestEdges(t *testing.T) {
+	l := Edges(2, 20, 500)
+	if len(l) != 500 || !slices.Equal(l, Edges(2, 20, 500)) || slices.Equal(l, Edges(4, 20, 500)) {
+		t.Errorf("%d edges", len(l))
+	}
+	loops, noughts, heavy := 0, 0, 0
+	ends := map[int]int{}
+	for _, e := range l {
+		if e.U < 0 || e.U >= 20 || e.V < 0 || e.V >= 20 || e.W < 0 || e.W > api.MaxW {
+			t.Errorf("%v", e)
+		}
+		if e.U == e.V {
+			loops++
+		}
+		if e.W == 0 {
+			noughts++
+		}
+		if e.W > api.MaxW/2 {
+			heavy++
+		}
+		ends[e.U]++
+		ends[e.V]++
+	}
+	if loops == 0 || noughts == 0 || heavy == 0 || len(ends) != 20 {
+		t.Errorf("%d, %d, %d, %d", loops, noughts, heavy, len(ends))
+	}
+	if len(Edges(3, 5, 0)) != 0 {
 		t.Error("none")
 	}
 }
