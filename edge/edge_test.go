@@ -7,6 +7,7 @@ import (
 	"testing"
 
 	"strait/api"
+	"strait/lists"
 	"strait/scatter"
 )
 
@@ -24,33 +25,6 @@ var anyWeights = []int64{lowest, lowest + 1, -1 << 32, -1, 0, 1, api.MaxW - 1, a
 // edge writes an edge in short.
 func edge(u, v int, w int64) api.Edge {
 	return api.Edge{U: u, V: v, W: w}
-}
-
-// edges writes a list in short, each edge by three numbers.
-func edges(l ...int64) []api.Edge {
-	var all []api.Edge
-	for i := 0; i < len(l); i += 3 {
-		all = append(all, edge(int(l[i]), int(l[i+1]), l[i+2]))
-	}
-	return all
-}
-
-// eachList hands on all lists of up to n of these edges. The list is the same memory each time.
-func eachList(n int, of []api.Edge, see func(l []api.Edge)) {
-	l := make([]api.Edge, 0, n)
-	var from func()
-	from = func() {
-		see(l)
-		if len(l) == n {
-			return
-		}
-		for _, e := range of {
-			l = append(l, e)
-			from()
-			l = l[:len(l)-1]
-		}
-	}
-	from()
 }
 
 // turned is the list with the edges of every second place, or every third, the other way round.
@@ -200,7 +174,7 @@ func TestChecks(t *testing.T) {
 		edge(0, -1, -1): api.ErrVertex,
 		edge(2, 0, -1):  api.ErrWeight,
 	}
-	eachList(4, edges(0, 1, 5, 2, 2, 0, 3, 0, 1, 0, -1, -1, 2, 0, -1), func(l []api.Edge) {
+	lists.Each(4, lists.Edges(0, 1, 5, 2, 2, 0, 3, 0, 1, 0, -1, -1, 2, 0, -1), func(l []api.Edge) {
 		want, wantAt := api.OK, 0
 		for i := len(l) - 1; i >= 0; i-- {
 			if wrong[l[i]] != api.OK {
@@ -218,7 +192,7 @@ func TestChecks(t *testing.T) {
 			}
 		}
 	}
-	if got, at := Checks(0, edges(0, 0, 0)); got != api.ErrVertex || at != 0 {
+	if got, at := Checks(0, lists.Edges(0, 0, 0)); got != api.ErrVertex || at != 0 {
 		t.Errorf("of no vertices: %d, %d", got, at)
 	}
 }
@@ -301,19 +275,19 @@ func TestMerge(t *testing.T) {
 	}{
 		{nil, nil},
 		{[]api.Edge{}, nil},
-		{edges(2, 1, 3, 1, 2, 4, 1, 1, 9), edges(1, 2, 7)},
-		{edges(0, 1, 5), edges(0, 1, 5)},
-		{edges(1, 0, 5), edges(0, 1, 5)},
-		{edges(1, 1, 5), nil},
-		{edges(0, 1, 0), nil},
-		{edges(0, 1, 5, 0, 1, -5), nil},
-		{edges(0, 1, 0, 1, 0, 3, 0, 1, 0), edges(0, 1, 3)},
-		{edges(0, 1, 5, 1, 0, -5, 0, 1, 2), edges(0, 1, 2)},
-		{edges(0, 1, 5, 1, 0, -7), edges(0, 1, -2)},
-		{edges(3, 2, 1, 0, 3, 2, 2, 0, 3, 1, 0, 4), edges(0, 1, 4, 0, 2, 3, 0, 3, 2, 2, 3, 1)},
-		{edges(-1, -3, 4, 7, -3, 2), edges(-3, -1, 4, -3, 7, 2)},
-		{edges(0, 1, 1<<31, 1, 0, 1<<31), edges(0, 1, 1<<32)},
-		{edges(0, 1, lowest), edges(0, 1, lowest)},
+		{lists.Edges(2, 1, 3, 1, 2, 4, 1, 1, 9), lists.Edges(1, 2, 7)},
+		{lists.Edges(0, 1, 5), lists.Edges(0, 1, 5)},
+		{lists.Edges(1, 0, 5), lists.Edges(0, 1, 5)},
+		{lists.Edges(1, 1, 5), nil},
+		{lists.Edges(0, 1, 0), nil},
+		{lists.Edges(0, 1, 5, 0, 1, -5), nil},
+		{lists.Edges(0, 1, 0, 1, 0, 3, 0, 1, 0), lists.Edges(0, 1, 3)},
+		{lists.Edges(0, 1, 5, 1, 0, -5, 0, 1, 2), lists.Edges(0, 1, 2)},
+		{lists.Edges(0, 1, 5, 1, 0, -7), lists.Edges(0, 1, -2)},
+		{lists.Edges(3, 2, 1, 0, 3, 2, 2, 0, 3, 1, 0, 4), lists.Edges(0, 1, 4, 0, 2, 3, 0, 3, 2, 2, 3, 1)},
+		{lists.Edges(-1, -3, 4, 7, -3, 2), lists.Edges(-3, -1, 4, -3, 7, 2)},
+		{lists.Edges(0, 1, 1<<31, 1, 0, 1<<31), lists.Edges(0, 1, 1<<32)},
+		{lists.Edges(0, 1, lowest), lists.Edges(0, 1, lowest)},
 	} {
 		checkWritten(t, c.l, c.want, true)
 	}
@@ -325,22 +299,22 @@ func TestMergeOfWhatDoesNotFit(t *testing.T) {
 		l, want []api.Edge
 		ok      bool
 	}{
-		{edges(0, 1, highest, 0, 1, 1), nil, false},
-		{edges(0, 1, highest, 1, 0, 1), nil, false},
-		{edges(0, 1, lowest, 1, 0, -1), nil, false},
-		{edges(0, 1, 1<<62, 1, 0, 1<<62), nil, false},
-		{edges(0, 1, 1<<62, 1, 0, 1<<62-1), edges(0, 1, highest), true},
-		{edges(0, 1, highest, 1, 0, 1, 0, 1, -1), nil, false},
-		{edges(0, 1, highest, 1, 0, -1, 0, 1, 1), edges(0, 1, highest), true},
-		{edges(0, 1, 1, 1, 0, highest, 0, 1, -1), nil, false},
-		{edges(0, 1, -1, 1, 0, highest, 0, 1, 1), edges(0, 1, highest), true},
-		{edges(0, 1, lowest, 1, 0, highest), edges(0, 1, -1), true},
-		{edges(0, 1, highest, 0, 2, 1), edges(0, 1, highest, 0, 2, 1), true},
-		{edges(0, 1, highest, 1, 2, highest, 0, 2, highest), edges(0, 1, highest, 0, 2, highest, 1, 2, highest), true},
-		{edges(0, 2, 3, 0, 1, highest, 0, 2, 4, 1, 0, highest, 0, 2, 5), nil, false},
-		{edges(1, 1, highest, 1, 1, highest, 0, 1, 2), edges(0, 1, 2), true},
-		{edges(1, 1, highest, 0, 1, highest, 0, 0, highest), edges(0, 1, highest), true},
-		{edges(1, 1, lowest, 1, 1, lowest), nil, true},
+		{lists.Edges(0, 1, highest, 0, 1, 1), nil, false},
+		{lists.Edges(0, 1, highest, 1, 0, 1), nil, false},
+		{lists.Edges(0, 1, lowest, 1, 0, -1), nil, false},
+		{lists.Edges(0, 1, 1<<62, 1, 0, 1<<62), nil, false},
+		{lists.Edges(0, 1, 1<<62, 1, 0, 1<<62-1), lists.Edges(0, 1, highest), true},
+		{lists.Edges(0, 1, highest, 1, 0, 1, 0, 1, -1), nil, false},
+		{lists.Edges(0, 1, highest, 1, 0, -1, 0, 1, 1), lists.Edges(0, 1, highest), true},
+		{lists.Edges(0, 1, 1, 1, 0, highest, 0, 1, -1), nil, false},
+		{lists.Edges(0, 1, -1, 1, 0, highest, 0, 1, 1), lists.Edges(0, 1, highest), true},
+		{lists.Edges(0, 1, lowest, 1, 0, highest), lists.Edges(0, 1, -1), true},
+		{lists.Edges(0, 1, highest, 0, 2, 1), lists.Edges(0, 1, highest, 0, 2, 1), true},
+		{lists.Edges(0, 1, highest, 1, 2, highest, 0, 2, highest), lists.Edges(0, 1, highest, 0, 2, highest, 1, 2, highest), true},
+		{lists.Edges(0, 2, 3, 0, 1, highest, 0, 2, 4, 1, 0, highest, 0, 2, 5), nil, false},
+		{lists.Edges(1, 1, highest, 1, 1, highest, 0, 1, 2), lists.Edges(0, 1, 2), true},
+		{lists.Edges(1, 1, highest, 0, 1, highest, 0, 0, highest), lists.Edges(0, 1, highest), true},
+		{lists.Edges(1, 1, lowest, 1, 1, lowest), nil, true},
 	} {
 		checkWritten(t, c.l, c.want, c.ok)
 	}
@@ -348,15 +322,15 @@ func TestMergeOfWhatDoesNotFit(t *testing.T) {
 
 // P15.2: all short lists, of few unlike edges.
 func TestMergeOfShortLists(t *testing.T) {
-	eachList(4, edges(0, 1, 2, 1, 0, 3, 1, 0, -2, 2, 0, 1, 2, 1, 0, 1, 1, 9, 2, 1, -1), func(l []api.Edge) { checkMerge(t, l) })
-	eachList(4, edges(0, 1, 1, 1, 0, highest, 0, 1, -1, 1, 0, lowest, 2, 0, highest, 1, 1, highest), func(l []api.Edge) { checkMerge(t, l) })
+	lists.Each(4, lists.Edges(0, 1, 2, 1, 0, 3, 1, 0, -2, 2, 0, 1, 2, 1, 0, 1, 1, 9, 2, 1, -1), func(l []api.Edge) { checkMerge(t, l) })
+	lists.Each(4, lists.Edges(0, 1, 1, 1, 0, highest, 0, 1, -1, 1, 0, lowest, 2, 0, highest, 1, 1, highest), func(l []api.Edge) { checkMerge(t, l) })
 	var pairs []api.Edge
 	for u := -1; u <= 2; u++ {
 		for v := -1; v <= 2; v++ {
 			pairs = append(pairs, edge(u, v, int64(1+u+10*v)))
 		}
 	}
-	eachList(3, pairs, func(l []api.Edge) { checkMerge(t, l) })
+	lists.Each(3, pairs, func(l []api.Edge) { checkMerge(t, l) })
 }
 
 // P15.2: vertices and weights may be any numbers.
@@ -410,8 +384,8 @@ func TestMergeOfVeryLongLists(t *testing.T) {
 
 // P15.2: a pair that comes as often as there may be edges, of the greatest weight.
 func TestMergeOfManyParallelEdges(t *testing.T) {
-	l := slices.Repeat(edges(1, 0, api.MaxW), api.MaxM)
-	if got, ok := Merge(l); !ok || !slices.Equal(got, edges(0, 1, 1<<51)) {
+	l := slices.Repeat(lists.Edges(1, 0, api.MaxW), api.MaxM)
+	if got, ok := Merge(l); !ok || !slices.Equal(got, lists.Edges(0, 1, 1<<51)) {
 		t.Errorf("%v, %v", got, ok)
 	}
 }
@@ -428,7 +402,7 @@ func wantFind(l []api.Edge, u, v int) int {
 
 // P15.3: Find tells the first edge of both, either way round, whatever it weighs.
 func TestFind(t *testing.T) {
-	eachList(4, edges(0, 1, 5, 1, 0, 7, 1, 1, 0, 2, 1, -3, -1, 2, 0), func(l []api.Edge) {
+	lists.Each(4, lists.Edges(0, 1, 5, 1, 0, 7, 1, 1, 0, 2, 1, -3, -1, 2, 0), func(l []api.Edge) {
 		for u := -2; u <= 3; u++ {
 			for v := -2; v <= 3; v++ {
 				if got, want := Find(l, u, v), wantFind(l, u, v); got != want {
@@ -437,7 +411,7 @@ func TestFind(t *testing.T) {
 			}
 		}
 	})
-	l := edges(2, 1, 3, 0, 2, 1, 1, 2, 4, 1, 1, 9, 1, 0, 0)
+	l := lists.Edges(2, 1, 3, 0, 2, 1, 1, 2, 4, 1, 1, 9, 1, 0, 0)
 	for _, c := range []struct{ u, v, want int }{
 		{1, 2, 0}, {2, 1, 0}, {0, 2, 1}, {2, 0, 1}, {1, 1, 3}, {0, 1, 4}, {1, 0, 4}, {0, 0, -1}, {2, 2, -1}, {0, 3, -1}, {-1, -1, -1},
 	} {
@@ -483,18 +457,18 @@ func TestTotal(t *testing.T) {
 	}{
 		{nil, 0, true},
 		{[]api.Edge{}, 0, true},
-		{edges(0, 1, 5), 5, true},
-		{edges(2, 1, 3, 0, 2, 1, 1, 2, 4, 1, 1, 9, 1, 0, 0), 17, true},
-		{edges(0, 1, 5, 0, 1, -5), 0, true},
-		{edges(-4, 9, -5), -5, true},
-		{edges(0, 1, highest, 3, 2, lowest), -1, true},
-		{edges(0, 1, highest), highest, true},
-		{edges(0, 1, highest, 2, 3, 1), 0, false},
-		{edges(0, 1, highest, 2, 2, 1), 0, false},
-		{edges(0, 1, lowest, 2, 2, -1), 0, false},
-		{edges(0, 1, highest, 2, 3, 1, 4, 5, -1), 0, false},
-		{edges(0, 1, highest, 4, 5, -1, 2, 3, 1), highest, true},
-		{edges(0, 1, 1<<62, 2, 3, 1<<62), 0, false},
+		{lists.Edges(0, 1, 5), 5, true},
+		{lists.Edges(2, 1, 3, 0, 2, 1, 1, 2, 4, 1, 1, 9, 1, 0, 0), 17, true},
+		{lists.Edges(0, 1, 5, 0, 1, -5), 0, true},
+		{lists.Edges(-4, 9, -5), -5, true},
+		{lists.Edges(0, 1, highest, 3, 2, lowest), -1, true},
+		{lists.Edges(0, 1, highest), highest, true},
+		{lists.Edges(0, 1, highest, 2, 3, 1), 0, false},
+		{lists.Edges(0, 1, highest, 2, 2, 1), 0, false},
+		{lists.Edges(0, 1, lowest, 2, 2, -1), 0, false},
+		{lists.Edges(0, 1, highest, 2, 3, 1, 4, 5, -1), 0, false},
+		{lists.Edges(0, 1, highest, 4, 5, -1, 2, 3, 1), highest, true},
+		{lists.Edges(0, 1, 1<<62, 2, 3, 1<<62), 0, false},
 	} {
 		if got, ok := Total(c.l); got != c.want || ok != c.ok {
 			t.Errorf("Total(%v) is %d, %v, not %d, %v", c.l, got, ok, c.want, c.ok)
@@ -504,7 +478,7 @@ func TestTotal(t *testing.T) {
 	for _, w := range anyWeights {
 		brinks = append(brinks, edge(1, 1, w))
 	}
-	eachList(3, brinks, func(l []api.Edge) {
+	lists.Each(3, brinks, func(l []api.Edge) {
 		want, wantOK := fitting(between(l, 1, 1))
 		if got, ok := Total(l); got != want || ok != wantOK {
 			t.Fatalf("Total(%v) is %d, %v, not %d, %v", l, got, ok, want, wantOK)
@@ -517,18 +491,18 @@ func TestSplit(t *testing.T) {
 	for _, c := range []struct{ l, want []api.Edge }{
 		{nil, nil},
 		{[]api.Edge{}, nil},
-		{edges(0, 1, 0), edges(0, 1, 0)},
-		{edges(0, 1, 1), edges(0, 1, 1)},
-		{edges(0, 1, api.MaxW-1), edges(0, 1, api.MaxW-1)},
-		{edges(0, 1, api.MaxW), edges(0, 1, api.MaxW)},
-		{edges(0, 1, api.MaxW+1), edges(0, 1, api.MaxW, 0, 1, 1)},
-		{edges(0, 1, 2*api.MaxW-1), edges(0, 1, api.MaxW, 0, 1, api.MaxW-1)},
-		{edges(0, 1, 2*api.MaxW), edges(0, 1, api.MaxW, 0, 1, api.MaxW)},
-		{edges(0, 1, 2*api.MaxW+5), edges(0, 1, api.MaxW, 0, 1, api.MaxW, 0, 1, 5)},
-		{edges(3, 0, api.MaxW+2, 1, 1, 0, 0, 3, 7), edges(3, 0, api.MaxW, 3, 0, 2, 1, 1, 0, 0, 3, 7)},
-		{edges(1, 0, 0, 1, 0, 0), edges(1, 0, 0, 1, 0, 0)},
-		{edges(5, 5, 3*api.MaxW), edges(5, 5, api.MaxW, 5, 5, api.MaxW, 5, 5, api.MaxW)},
-		{edges(-7, -9, api.MaxW+1, math.MaxInt, 0, 1), edges(-7, -9, api.MaxW, -7, -9, 1, math.MaxInt, 0, 1)},
+		{lists.Edges(0, 1, 0), lists.Edges(0, 1, 0)},
+		{lists.Edges(0, 1, 1), lists.Edges(0, 1, 1)},
+		{lists.Edges(0, 1, api.MaxW-1), lists.Edges(0, 1, api.MaxW-1)},
+		{lists.Edges(0, 1, api.MaxW), lists.Edges(0, 1, api.MaxW)},
+		{lists.Edges(0, 1, api.MaxW+1), lists.Edges(0, 1, api.MaxW, 0, 1, 1)},
+		{lists.Edges(0, 1, 2*api.MaxW-1), lists.Edges(0, 1, api.MaxW, 0, 1, api.MaxW-1)},
+		{lists.Edges(0, 1, 2*api.MaxW), lists.Edges(0, 1, api.MaxW, 0, 1, api.MaxW)},
+		{lists.Edges(0, 1, 2*api.MaxW+5), lists.Edges(0, 1, api.MaxW, 0, 1, api.MaxW, 0, 1, 5)},
+		{lists.Edges(3, 0, api.MaxW+2, 1, 1, 0, 0, 3, 7), lists.Edges(3, 0, api.MaxW, 3, 0, 2, 1, 1, 0, 0, 3, 7)},
+		{lists.Edges(1, 0, 0, 1, 0, 0), lists.Edges(1, 0, 0, 1, 0, 0)},
+		{lists.Edges(5, 5, 3*api.MaxW), lists.Edges(5, 5, api.MaxW, 5, 5, api.MaxW, 5, 5, api.MaxW)},
+		{lists.Edges(-7, -9, api.MaxW+1, math.MaxInt, 0, 1), lists.Edges(-7, -9, api.MaxW, -7, -9, 1, math.MaxInt, 0, 1)},
 	} {
 		if got, ok := Split(c.l); !ok || !slices.Equal(got, c.want) {
 			t.Errorf("Split(%v) is %v, %v, not %v", c.l, got, ok, c.want)
@@ -548,7 +522,7 @@ func TestSplitOfManyWeights(t *testing.T) {
 				}
 				continue
 			}
-			want := slices.Repeat(edges(4, 2, api.MaxW), int(w/api.MaxW))
+			want := slices.Repeat(lists.Edges(4, 2, api.MaxW), int(w/api.MaxW))
 			if w%api.MaxW > 0 || w == 0 {
 				want = append(want, edge(4, 2, w%api.MaxW))
 			}
@@ -563,7 +537,7 @@ func TestSplitOfManyWeights(t *testing.T) {
 func TestSplitBelowNothing(t *testing.T) {
 	for _, w := range []int64{-1, -2, -api.MaxW, -api.MaxW - 1, -1 << 32, lowest, lowest + 1} {
 		for place := range 4 {
-			l := edges(0, 1, 5, 0, 2, 2*api.MaxW, 0, 3, 0, 1, 1, 1)
+			l := lists.Edges(0, 1, 5, 0, 2, 2*api.MaxW, 0, 3, 0, 1, 1, 1)
 			l[place].W = w
 			if got, ok := Split(l); ok || len(got) != 0 {
 				t.Errorf("%d at %d: %v, %v", w, place, got, ok)
@@ -572,7 +546,7 @@ func TestSplitBelowNothing(t *testing.T) {
 	}
 	// Nor if what comes ahead is as much as there may be, or more.
 	for _, w := range []int64{api.MaxM * api.MaxW, highest} {
-		if got, ok := Split(edges(0, 1, w, 0, 1, -1)); ok || len(got) != 0 {
+		if got, ok := Split(lists.Edges(0, 1, w, 0, 1, -1)); ok || len(got) != 0 {
 			t.Errorf("-1 behind %d: %d edges, %v", w, len(got), ok)
 		}
 	}
@@ -587,26 +561,26 @@ func TestSplitToTheMost(t *testing.T) {
 		l    []api.Edge
 		ok   bool
 	}{
-		{"one", edges(0, 1, most), true},
-		{"one, a little less", edges(0, 1, most-1), true},
-		{"one, a whole edge less", edges(0, 1, most-api.MaxW), true},
-		{"one, a little more", edges(0, 1, most+1), false},
-		{"one, a whole edge more", edges(0, 1, most+api.MaxW), false},
-		{"one, far more", edges(0, 1, 1<<62), false},
-		{"one, of the greatest number", edges(0, 1, highest), false},
-		{"many of the greatest number", slices.Repeat(edges(0, 1, highest), 9), false},
-		{"two", edges(0, 1, most-api.MaxW, 0, 1, api.MaxW), true},
-		{"two, the other one a little more", edges(0, 1, most-api.MaxW, 0, 1, api.MaxW+1), false},
-		{"two, the other one weighs nothing", edges(0, 1, most-api.MaxW, 0, 1, 0), true},
-		{"all, and nothing more", edges(0, 1, most, 0, 1, 0), false},
-		{"nothing, and all", edges(0, 1, 0, 0, 1, most), false},
-		{"all, and a little more", edges(0, 1, most, 0, 1, 1), false},
-		{"halves", edges(0, 1, most/2, 1, 2, most/2), true},
-		{"halves, and nothing more", edges(0, 1, most/2, 1, 2, most/2, 0, 2, 0), false},
+		{"one", lists.Edges(0, 1, most), true},
+		{"one, a little less", lists.Edges(0, 1, most-1), true},
+		{"one, a whole edge less", lists.Edges(0, 1, most-api.MaxW), true},
+		{"one, a little more", lists.Edges(0, 1, most+1), false},
+		{"one, a whole edge more", lists.Edges(0, 1, most+api.MaxW), false},
+		{"one, far more", lists.Edges(0, 1, 1<<62), false},
+		{"one, of the greatest number", lists.Edges(0, 1, highest), false},
+		{"many of the greatest number", slices.Repeat(lists.Edges(0, 1, highest), 9), false},
+		{"two", lists.Edges(0, 1, most-api.MaxW, 0, 1, api.MaxW), true},
+		{"two, the other one a little more", lists.Edges(0, 1, most-api.MaxW, 0, 1, api.MaxW+1), false},
+		{"two, the other one weighs nothing", lists.Edges(0, 1, most-api.MaxW, 0, 1, 0), true},
+		{"all, and nothing more", lists.Edges(0, 1, most, 0, 1, 0), false},
+		{"nothing, and all", lists.Edges(0, 1, 0, 0, 1, most), false},
+		{"all, and a little more", lists.Edges(0, 1, most, 0, 1, 1), false},
+		{"halves", lists.Edges(0, 1, most/2, 1, 2, most/2), true},
+		{"halves, and nothing more", lists.Edges(0, 1, most/2, 1, 2, most/2, 0, 2, 0), false},
 		{"many of nothing", nothings[:api.MaxM], true},
 		{"many of nothing, one more", nothings, false},
-		{"many of all kinds, to the most", append(edges(0, 1, api.MaxW+1), nothings[2:api.MaxM]...), true},
-		{"many of all kinds, one more", append(edges(0, 1, api.MaxW+1), nothings[1:api.MaxM]...), false},
+		{"many of all kinds, to the most", append(lists.Edges(0, 1, api.MaxW+1), nothings[2:api.MaxM]...), true},
+		{"many of all kinds, one more", append(lists.Edges(0, 1, api.MaxW+1), nothings[1:api.MaxM]...), false},
 	} {
 		got, ok := Split(c.l)
 		if ok != c.ok || !ok && len(got) != 0 {
@@ -617,7 +591,7 @@ func TestSplitToTheMost(t *testing.T) {
 			t.Errorf("%s: %d edges, of %d together, not %d", c.name, len(got), total, want)
 		}
 	}
-	if got, ok := Split(edges(3, 1, most)); !ok || !slices.Equal(got, slices.Repeat(edges(3, 1, api.MaxW), api.MaxM)) {
+	if got, ok := Split(lists.Edges(3, 1, most)); !ok || !slices.Equal(got, slices.Repeat(lists.Edges(3, 1, api.MaxW), api.MaxM)) {
 		t.Errorf("%d edges, %v", len(got), ok)
 	}
 }
@@ -643,7 +617,7 @@ func TestSplitIsMergedAgain(t *testing.T) {
 			}
 		}
 	}
-	eachList(3, edges(0, 1, 0, 1, 0, api.MaxW, 0, 1, api.MaxW+1, 2, 0, 3*api.MaxW-1, 1, 1, api.MaxW+9, 2, 1, 4*api.MaxW), check)
+	lists.Each(3, lists.Edges(0, 1, 0, 1, 0, api.MaxW, 0, 1, api.MaxW+1, 2, 0, 3*api.MaxW-1, 1, 1, api.MaxW+9, 2, 1, 4*api.MaxW), check)
 	for seed := range uint64(20) {
 		l := scatter.Edges(seed, 2+int(seed), 60)
 		merged, _ := Merge(l)
@@ -666,7 +640,7 @@ func TestMergedAgain(t *testing.T) {
 			}
 		}
 	}
-	eachList(4, edges(0, 1, 2, 1, 0, highest, 0, 1, -1, 2, 0, lowest, 1, 1, 4, 2, 1, -7), check)
+	lists.Each(4, lists.Edges(0, 1, 2, 1, 0, highest, 0, 1, -1, 2, 0, lowest, 1, 1, 4, 2, 1, -7), check)
 	for seed := range uint64(20) {
 		check(scatter.Edges(seed, 1+int(seed)*2, 200))
 	}
@@ -698,11 +672,11 @@ func TestMergedInAnyOrder(t *testing.T) {
 
 // P4: what lies behind a list's length is neither read nor written, and the list stays as it is.
 func TestBehindTheLength(t *testing.T) {
-	l := edges(2, 1, 3, 1, 2, 2*api.MaxW, 1, 0, 1, 9, 9, -1, 0, 1, highest)
+	l := lists.Edges(2, 1, 3, 1, 2, 2*api.MaxW, 1, 0, 1, 9, 9, -1, 0, 1, highest)
 	before := slices.Clone(l)
 	why, at := Checks(3, l[:1])
 	merged, ok := Merge(l[:3])
-	if why != api.OK || at != 0 || !ok || !slices.Equal(merged, edges(0, 1, 1, 1, 2, 2*api.MaxW+3)) {
+	if why != api.OK || at != 0 || !ok || !slices.Equal(merged, lists.Edges(0, 1, 1, 1, 2, 2*api.MaxW+3)) {
 		t.Errorf("Checks %d, Merge %v", why, merged)
 	}
 	total, okTotal := Total(l[:3])
@@ -710,7 +684,7 @@ func TestBehindTheLength(t *testing.T) {
 	if total != 2*api.MaxW+4 || !okTotal || Find(l[:3], 9, 9) != -1 {
 		t.Errorf("Total %d, Find %d", total, Find(l[:3], 9, 9))
 	}
-	if !okSplit || !slices.Equal(split, edges(2, 1, 3, 1, 2, api.MaxW, 1, 2, api.MaxW)) {
+	if !okSplit || !slices.Equal(split, lists.Edges(2, 1, 3, 1, 2, api.MaxW, 1, 2, api.MaxW)) {
 		t.Errorf("Split %v", split)
 	}
 	if !slices.Equal(l, before) {

@@ -9,6 +9,7 @@ import (
 
 	"strait/api"
 	"strait/gread"
+	"strait/lists"
 	"strait/net"
 	"strait/scatter"
 )
@@ -19,15 +20,6 @@ var (
 	minZero = math.Copysign(0, -1)
 	noNum   = math.NaN()
 )
-
-// listOf writes a list of edges in short, each by three numbers.
-func listOf(l ...int64) []api.Edge {
-	var all []api.Edge
-	for i := 0; i < len(l); i += 3 {
-		all = append(all, api.Edge{U: int(l[i]), V: int(l[i+1]), W: l[i+2]})
-	}
-	return all
-}
 
 // pieces are, of each edge, as many of 2^31 as leave something over, and what they leave.
 func pieces(l []api.Edge) []api.Edge {
@@ -226,21 +218,6 @@ func checkNoFloats(t *testing.T, n int, l []api.Edge, w []float64, why api.Errno
 	}
 }
 
-// eachList hands on all lists of up to n of these things.
-func eachList[T any](n int, things []T, see func(l []T)) {
-	var from func(l []T)
-	from = func(l []T) {
-		see(l)
-		if len(l) == n {
-			return
-		}
-		for _, x := range things {
-			from(append(slices.Clone(l), x))
-		}
-	}
-	from(nil)
-}
-
 // weightsOf are m floats that are weights, as the seed says, with some -0.
 func weightsOf(seed uint64, m int) []float64 {
 	w := make([]float64, m)
@@ -255,8 +232,8 @@ func weightsOf(seed uint64, m int) []float64 {
 
 // P18.1: the chapter's example, and the document's of two edges of 2^31.
 func TestExamples(t *testing.T) {
-	checkText(t, "Print", Print(made(t, 2, listOf(0, 1, 5))), "graph 2 1\n0 1 5\n")
-	checkText(t, "Print", Print(made(t, 2, listOf(0, 1, 2147483648, 0, 1, 2147483648))), "graph 2 2\n0 1 2147483648\n0 1 2147483648\n")
+	checkText(t, "Print", Print(made(t, 2, lists.Edges(0, 1, 5))), "graph 2 1\n0 1 5\n")
+	checkText(t, "Print", Print(made(t, 2, lists.Edges(0, 1, 2147483648, 0, 1, 2147483648))), "graph 2 2\n0 1 2147483648\n0 1 2147483648\n")
 }
 
 // P18.1, P18.2: texts that are written down.
@@ -268,20 +245,20 @@ func TestTexts(t *testing.T) {
 	}{
 		{0, nil, "graph 0 0\n", "graph {\n}\n", ""},
 		{1, nil, "graph 1 0\n", "graph {\n0;\n}\n", "0\n"},
-		{1, listOf(0, 0, 7), "graph 1 0\n", "graph {\n0;\n}\n", "0\n"},
+		{1, lists.Edges(0, 0, 7), "graph 1 0\n", "graph {\n0;\n}\n", "0\n"},
 		{2, nil, "graph 2 0\n", "graph {\n0;\n1;\n}\n", "0 0\n0 0\n"},
-		{2, listOf(0, 1, 0), "graph 2 0\n", "graph {\n0;\n1;\n}\n", "0 0\n0 0\n"},
-		{2, listOf(1, 1, 9, 1, 0, 0), "graph 2 0\n", "graph {\n0;\n1;\n}\n", "0 0\n0 0\n"},
-		{2, listOf(0, 1, 5), "graph 2 1\n0 1 5\n", "graph {\n0 -- 1 [5];\n}\n", "0 5\n5 0\n"},
-		{2, listOf(1, 0, 5), "graph 2 1\n0 1 5\n", "graph {\n0 -- 1 [5];\n}\n", "0 5\n5 0\n"},
-		{2, listOf(1, 0, 2, 0, 1, 3), "graph 2 1\n0 1 5\n", "graph {\n0 -- 1 [5];\n}\n", "0 5\n5 0\n"},
-		{3, listOf(0, 2, 1), "graph 3 1\n0 2 1\n", "graph {\n1;\n0 -- 2 [1];\n}\n", "0 0 1\n0 0 0\n1 0 0\n"},
-		{3, listOf(2, 1, 4, 1, 0, 3), "graph 3 2\n0 1 3\n1 2 4\n", "graph {\n0 -- 1 [3];\n1 -- 2 [4];\n}\n", "0 3 0\n3 0 4\n0 4 0\n"},
-		{3, listOf(2, 1, 4, 2, 0, 30, 1, 0, 200), "graph 3 3\n0 1 200\n0 2 30\n1 2 4\n", "graph {\n0 -- 1 [200];\n0 -- 2 [30];\n1 -- 2 [4];\n}\n", "0 200 30\n200 0 4\n30 4 0\n"},
-		{5, listOf(3, 1, 8, 2, 2, 6), "graph 5 1\n1 3 8\n", "graph {\n0;\n2;\n4;\n1 -- 3 [8];\n}\n", "0 0 0 0 0\n0 0 0 8 0\n0 0 0 0 0\n0 8 0 0 0\n0 0 0 0 0\n"},
-		{2, listOf(0, 1, 2147483648), "graph 2 1\n0 1 2147483648\n", "graph {\n0 -- 1 [2147483648];\n}\n", "0 2147483648\n2147483648 0\n"},
-		{2, listOf(0, 1, 2147483648, 0, 1, 1), "graph 2 2\n0 1 2147483648\n0 1 1\n", "graph {\n0 -- 1 [2147483649];\n}\n", "0 2147483649\n2147483649 0\n"},
-		{3, listOf(2, 1, 2147483647, 1, 2, 2147483647, 0, 1, 7), "graph 3 3\n0 1 7\n1 2 2147483648\n1 2 2147483646\n", "graph {\n0 -- 1 [7];\n1 -- 2 [4294967294];\n}\n", "0 7 0\n7 0 4294967294\n0 4294967294 0\n"},
+		{2, lists.Edges(0, 1, 0), "graph 2 0\n", "graph {\n0;\n1;\n}\n", "0 0\n0 0\n"},
+		{2, lists.Edges(1, 1, 9, 1, 0, 0), "graph 2 0\n", "graph {\n0;\n1;\n}\n", "0 0\n0 0\n"},
+		{2, lists.Edges(0, 1, 5), "graph 2 1\n0 1 5\n", "graph {\n0 -- 1 [5];\n}\n", "0 5\n5 0\n"},
+		{2, lists.Edges(1, 0, 5), "graph 2 1\n0 1 5\n", "graph {\n0 -- 1 [5];\n}\n", "0 5\n5 0\n"},
+		{2, lists.Edges(1, 0, 2, 0, 1, 3), "graph 2 1\n0 1 5\n", "graph {\n0 -- 1 [5];\n}\n", "0 5\n5 0\n"},
+		{3, lists.Edges(0, 2, 1), "graph 3 1\n0 2 1\n", "graph {\n1;\n0 -- 2 [1];\n}\n", "0 0 1\n0 0 0\n1 0 0\n"},
+		{3, lists.Edges(2, 1, 4, 1, 0, 3), "graph 3 2\n0 1 3\n1 2 4\n", "graph {\n0 -- 1 [3];\n1 -- 2 [4];\n}\n", "0 3 0\n3 0 4\n0 4 0\n"},
+		{3, lists.Edges(2, 1, 4, 2, 0, 30, 1, 0, 200), "graph 3 3\n0 1 200\n0 2 30\n1 2 4\n", "graph {\n0 -- 1 [200];\n0 -- 2 [30];\n1 -- 2 [4];\n}\n", "0 200 30\n200 0 4\n30 4 0\n"},
+		{5, lists.Edges(3, 1, 8, 2, 2, 6), "graph 5 1\n1 3 8\n", "graph {\n0;\n2;\n4;\n1 -- 3 [8];\n}\n", "0 0 0 0 0\n0 0 0 8 0\n0 0 0 0 0\n0 8 0 0 0\n0 0 0 0 0\n"},
+		{2, lists.Edges(0, 1, 2147483648), "graph 2 1\n0 1 2147483648\n", "graph {\n0 -- 1 [2147483648];\n}\n", "0 2147483648\n2147483648 0\n"},
+		{2, lists.Edges(0, 1, 2147483648, 0, 1, 1), "graph 2 2\n0 1 2147483648\n0 1 1\n", "graph {\n0 -- 1 [2147483649];\n}\n", "0 2147483649\n2147483649 0\n"},
+		{3, lists.Edges(2, 1, 2147483647, 1, 2, 2147483647, 0, 1, 7), "graph 3 3\n0 1 7\n1 2 2147483648\n1 2 2147483646\n", "graph {\n0 -- 1 [7];\n1 -- 2 [4294967294];\n}\n", "0 7 0\n7 0 4294967294\n0 4294967294 0\n"},
 	} {
 		g := made(t, c.n, c.l)
 		checkText(t, "Print", Print(g), c.print)
@@ -305,7 +282,7 @@ func TestSmallGraphs(t *testing.T) {
 	graphs := 0
 	for n := range 5 {
 		pairs := n * (n - 1) / 2
-		eachList(pairs, weights, func(l []int64) {
+		lists.Each(pairs, weights, func(l []int64) {
 			if len(l) < pairs {
 				return
 			}
@@ -359,9 +336,9 @@ func TestHeavyEdges(t *testing.T) {
 			if w <= 0 {
 				continue
 			}
-			merged := listOf(0, 1, w)
+			merged := lists.Edges(0, 1, w)
 			checkGraph(t, made(t, 2, pieces(merged)), 2, merged)
-			merged = listOf(0, 3, 5, 1, 2, w, 1, 4, most, 2, 3, w+1, 2, 4, 1)
+			merged = lists.Edges(0, 3, 5, 1, 2, w, 1, 4, most, 2, 3, w+1, 2, 4, 1)
 			checkGraph(t, made(t, 6, pieces(merged)), 6, merged)
 		}
 	}
@@ -370,12 +347,12 @@ func TestHeavyEdges(t *testing.T) {
 // P18.1, P18.2: the heaviest edge that there can be takes as many lines as a text may have.
 func TestHeaviestEdge(t *testing.T) {
 	const m = api.MaxM
-	g := made(t, 2, slices.Repeat(listOf(1, 0, api.MaxW), m))
+	g := made(t, 2, slices.Repeat(lists.Edges(1, 0, api.MaxW), m))
 	checkText(t, "Print", Print(g), "graph 2 1048576\n"+strings.Repeat("0 1 2147483648\n", m))
 	checkText(t, "Dot", Dot(g), "graph {\n0 -- 1 [2251799813685248];\n}\n")
 	checkText(t, "Rows", Rows(g), "0 2251799813685248\n2251799813685248 0\n")
 	checkReadAgain(t, g)
-	g = made(t, 3, append(slices.Repeat(listOf(2, 0, api.MaxW), m-2), listOf(1, 0, api.MaxW, 0, 2, 3)...))
+	g = made(t, 3, append(slices.Repeat(lists.Edges(2, 0, api.MaxW), m-2), lists.Edges(1, 0, api.MaxW, 0, 2, 3)...))
 	checkText(t, "Print", Print(g), "graph 3 1048576\n0 1 2147483648\n"+strings.Repeat("0 2 2147483648\n", m-2)+"0 2 3\n")
 	checkReadAgain(t, g)
 }
@@ -397,7 +374,7 @@ func TestNoEdges(t *testing.T) {
 
 // P18.1, P18.2, P18.4: as many vertices as there may be, the first and the last ones in edges.
 func TestMostVertices(t *testing.T) {
-	merged := listOf(0, 1, 7, 0, 4095, 2147483649, 2000, 2001, 1, 4094, 4095, 12)
+	merged := lists.Edges(0, 1, 7, 0, 4095, 2147483649, 2000, 2001, 1, 4094, 4095, 12)
 	g := made(t, 4096, pieces(merged))
 	checkText(t, "Print", Print(g), "graph 4096 5\n0 1 7\n0 4095 2147483648\n0 4095 1\n2000 2001 1\n4094 4095 12\n")
 	checkText(t, "Dot", Dot(g), wantDot(4096, merged))
@@ -449,59 +426,59 @@ func TestFloats(t *testing.T) {
 		{0, nil, nil, "graph 0 0\n", api.OK, 0},
 		{0, []api.Edge{}, []float64{}, "graph 0 0\n", api.OK, 0},
 		{4096, nil, nil, "graph 4096 0\n", api.OK, 0},
-		{2, listOf(0, 1, 0), []float64{5}, "graph 2 1\n0 1 5\n", api.OK, 0},
-		{2, listOf(0, 1, 77), []float64{5}, "graph 2 1\n0 1 5\n", api.OK, 0},
-		{2, listOf(1, 0, -77), []float64{5}, "graph 2 1\n1 0 5\n", api.OK, 0},
-		{2, listOf(0, 1, 1<<40), []float64{2147483648}, "graph 2 1\n0 1 2147483648\n", api.OK, 0},
-		{2, listOf(0, 1, 5), []float64{0}, "graph 2 1\n0 1 0\n", api.OK, 0},
-		{2, listOf(0, 1, 5), []float64{minZero}, "graph 2 1\n0 1 0\n", api.OK, 0},
-		{1, listOf(0, 0, 5), []float64{1e3}, "graph 1 1\n0 0 1000\n", api.OK, 0},
-		{3, listOf(2, 1, 1, 1, 2, 1, 2, 2, 1, 1, 0, 1), []float64{4, 3, 2, 1}, "graph 3 4\n2 1 4\n1 2 3\n2 2 2\n1 0 1\n", api.OK, 0},
-		{4096, listOf(4095, 0, 0), []float64{6}, "graph 4096 1\n4095 0 6\n", api.OK, 0},
+		{2, lists.Edges(0, 1, 0), []float64{5}, "graph 2 1\n0 1 5\n", api.OK, 0},
+		{2, lists.Edges(0, 1, 77), []float64{5}, "graph 2 1\n0 1 5\n", api.OK, 0},
+		{2, lists.Edges(1, 0, -77), []float64{5}, "graph 2 1\n1 0 5\n", api.OK, 0},
+		{2, lists.Edges(0, 1, 1<<40), []float64{2147483648}, "graph 2 1\n0 1 2147483648\n", api.OK, 0},
+		{2, lists.Edges(0, 1, 5), []float64{0}, "graph 2 1\n0 1 0\n", api.OK, 0},
+		{2, lists.Edges(0, 1, 5), []float64{minZero}, "graph 2 1\n0 1 0\n", api.OK, 0},
+		{1, lists.Edges(0, 0, 5), []float64{1e3}, "graph 1 1\n0 0 1000\n", api.OK, 0},
+		{3, lists.Edges(2, 1, 1, 1, 2, 1, 2, 2, 1, 1, 0, 1), []float64{4, 3, 2, 1}, "graph 3 4\n2 1 4\n1 2 3\n2 2 2\n1 0 1\n", api.OK, 0},
+		{4096, lists.Edges(4095, 0, 0), []float64{6}, "graph 4096 1\n4095 0 6\n", api.OK, 0},
 		// Of another length.
 		{2, nil, []float64{5}, "", api.ErrArg, 0},
-		{2, listOf(0, 1, 5), nil, "", api.ErrArg, 0},
-		{2, listOf(0, 1, 5), []float64{5, 5}, "", api.ErrArg, 0},
-		{2, listOf(0, 1, 5, 0, 1, 5), []float64{5}, "", api.ErrArg, 0},
-		{2, listOf(0, 1, 5), []float64{5, noNum}, "", api.ErrArg, 0},
-		{9999, listOf(0, 1, 5), []float64{noNum, 5}, "", api.ErrArg, 0},
+		{2, lists.Edges(0, 1, 5), nil, "", api.ErrArg, 0},
+		{2, lists.Edges(0, 1, 5), []float64{5, 5}, "", api.ErrArg, 0},
+		{2, lists.Edges(0, 1, 5, 0, 1, 5), []float64{5}, "", api.ErrArg, 0},
+		{2, lists.Edges(0, 1, 5), []float64{5, noNum}, "", api.ErrArg, 0},
+		{9999, lists.Edges(0, 1, 5), []float64{noNum, 5}, "", api.ErrArg, 0},
 		// Floats that are no weights.
-		{2, listOf(0, 1, 5), []float64{noNum}, "", api.ErrNaN, 0},
-		{2, listOf(0, 1, 5), []float64{inf}, "", api.ErrInf, 0},
-		{2, listOf(0, 1, 5), []float64{minInf}, "", api.ErrInf, 0},
-		{2, listOf(0, 1, 5), []float64{0.5}, "", api.ErrFrac, 0},
-		{2, listOf(0, 1, 5), []float64{-0.5}, "", api.ErrFrac, 0},
-		{2, listOf(0, 1, 5), []float64{5e-324}, "", api.ErrFrac, 0},
-		{2, listOf(0, 1, 5), []float64{2147483648.5}, "", api.ErrFrac, 0},
-		{2, listOf(0, 1, 5), []float64{1 << 63}, "", api.ErrRange, 0},
-		{2, listOf(0, 1, 5), []float64{-1e300}, "", api.ErrRange, 0},
-		{2, listOf(0, 1, 5), []float64{2147483649}, "", api.ErrWeight, 0},
-		{2, listOf(0, 1, 5), []float64{4294967296}, "", api.ErrWeight, 0},
-		{2, listOf(0, 1, 5), []float64{-1}, "", api.ErrWeight, 0},
-		{2, listOf(0, 1, 5), []float64{-1 << 63}, "", api.ErrWeight, 0},
-		{2, listOf(0, 1, 5, 0, 1, 5, 0, 1, 5), []float64{1, -1, noNum}, "", api.ErrWeight, 1},
-		{2, listOf(0, 1, 5, 0, 1, 5, 0, 1, 5), []float64{1, 2, inf}, "", api.ErrInf, 2},
-		{-1, listOf(0, 1, 5), []float64{0.5}, "", api.ErrFrac, 0},
-		{4097, listOf(9, 9, 5, 9, 9, 5), []float64{1, noNum}, "", api.ErrNaN, 1},
-		{1, listOf(9, 9, 5, 9, 9, 5), []float64{1, -1}, "", api.ErrWeight, 1},
+		{2, lists.Edges(0, 1, 5), []float64{noNum}, "", api.ErrNaN, 0},
+		{2, lists.Edges(0, 1, 5), []float64{inf}, "", api.ErrInf, 0},
+		{2, lists.Edges(0, 1, 5), []float64{minInf}, "", api.ErrInf, 0},
+		{2, lists.Edges(0, 1, 5), []float64{0.5}, "", api.ErrFrac, 0},
+		{2, lists.Edges(0, 1, 5), []float64{-0.5}, "", api.ErrFrac, 0},
+		{2, lists.Edges(0, 1, 5), []float64{5e-324}, "", api.ErrFrac, 0},
+		{2, lists.Edges(0, 1, 5), []float64{2147483648.5}, "", api.ErrFrac, 0},
+		{2, lists.Edges(0, 1, 5), []float64{1 << 63}, "", api.ErrRange, 0},
+		{2, lists.Edges(0, 1, 5), []float64{-1e300}, "", api.ErrRange, 0},
+		{2, lists.Edges(0, 1, 5), []float64{2147483649}, "", api.ErrWeight, 0},
+		{2, lists.Edges(0, 1, 5), []float64{4294967296}, "", api.ErrWeight, 0},
+		{2, lists.Edges(0, 1, 5), []float64{-1}, "", api.ErrWeight, 0},
+		{2, lists.Edges(0, 1, 5), []float64{-1 << 63}, "", api.ErrWeight, 0},
+		{2, lists.Edges(0, 1, 5, 0, 1, 5, 0, 1, 5), []float64{1, -1, noNum}, "", api.ErrWeight, 1},
+		{2, lists.Edges(0, 1, 5, 0, 1, 5, 0, 1, 5), []float64{1, 2, inf}, "", api.ErrInf, 2},
+		{-1, lists.Edges(0, 1, 5), []float64{0.5}, "", api.ErrFrac, 0},
+		{4097, lists.Edges(9, 9, 5, 9, 9, 5), []float64{1, noNum}, "", api.ErrNaN, 1},
+		{1, lists.Edges(9, 9, 5, 9, 9, 5), []float64{1, -1}, "", api.ErrWeight, 1},
 		// Vertices that there can't be so many of.
 		{-1, nil, nil, "", api.ErrArg, 0},
-		{-1, listOf(0, 1, 5), []float64{5}, "", api.ErrArg, 0},
-		{math.MinInt, listOf(-1, 0, 5), []float64{5}, "", api.ErrArg, 0},
+		{-1, lists.Edges(0, 1, 5), []float64{5}, "", api.ErrArg, 0},
+		{math.MinInt, lists.Edges(-1, 0, 5), []float64{5}, "", api.ErrArg, 0},
 		{4097, nil, nil, "", api.ErrLong, 0},
-		{4097, listOf(0, 1, 5, -1, 9999, 5), []float64{5, 5}, "", api.ErrLong, 0},
-		{math.MaxInt, listOf(0, 1, 5), []float64{5}, "", api.ErrLong, 0},
+		{4097, lists.Edges(0, 1, 5, -1, 9999, 5), []float64{5, 5}, "", api.ErrLong, 0},
+		{math.MaxInt, lists.Edges(0, 1, 5), []float64{5}, "", api.ErrLong, 0},
 		// Edges of vertices that there are not.
-		{0, listOf(0, 0, 5), []float64{5}, "", api.ErrVertex, 0},
-		{1, listOf(0, 1, 5), []float64{5}, "", api.ErrVertex, 0},
-		{1, listOf(1, 0, 5), []float64{5}, "", api.ErrVertex, 0},
-		{2, listOf(0, -1, 5), []float64{5}, "", api.ErrVertex, 0},
-		{2, listOf(-1, 0, 5), []float64{5}, "", api.ErrVertex, 0},
-		{2, listOf(2, 2, 5), []float64{0}, "", api.ErrVertex, 0},
-		{2, listOf(0, 1, 5, 1, 0, 5, 0, 2, 5, 7, 7, 5), []float64{1, 2, 3, 4}, "", api.ErrVertex, 2},
-		{4096, listOf(0, 4095, 5, 0, 4096, 5), []float64{1, 2}, "", api.ErrVertex, 1},
-		{5, listOf(math.MaxInt64, 0, 5), []float64{1}, "", api.ErrVertex, 0},
-		{5, listOf(0, math.MinInt64, 5), []float64{1}, "", api.ErrVertex, 0},
+		{0, lists.Edges(0, 0, 5), []float64{5}, "", api.ErrVertex, 0},
+		{1, lists.Edges(0, 1, 5), []float64{5}, "", api.ErrVertex, 0},
+		{1, lists.Edges(1, 0, 5), []float64{5}, "", api.ErrVertex, 0},
+		{2, lists.Edges(0, -1, 5), []float64{5}, "", api.ErrVertex, 0},
+		{2, lists.Edges(-1, 0, 5), []float64{5}, "", api.ErrVertex, 0},
+		{2, lists.Edges(2, 2, 5), []float64{0}, "", api.ErrVertex, 0},
+		{2, lists.Edges(0, 1, 5, 1, 0, 5, 0, 2, 5, 7, 7, 5), []float64{1, 2, 3, 4}, "", api.ErrVertex, 2},
+		{4096, lists.Edges(0, 4095, 5, 0, 4096, 5), []float64{1, 2}, "", api.ErrVertex, 1},
+		{5, lists.Edges(math.MaxInt64, 0, 5), []float64{1}, "", api.ErrVertex, 0},
+		{5, lists.Edges(0, math.MinInt64, 5), []float64{1}, "", api.ErrVertex, 0},
 	} {
 		s, why, at := Floats(c.n, c.l, c.w)
 		if s != c.want || why != c.why || at != c.at {
@@ -513,12 +490,12 @@ func TestFloats(t *testing.T) {
 
 // P18.3, P2: Floats of all short lists of edges and of floats that may be or not, of all kinds of numbers of vertices.
 func TestFloatsOfShortLists(t *testing.T) {
-	edges := listOf(0, 0, 3, 0, 1, -1, 1, 0, 1<<40, 2, 1, 0, -1, 0, 1, 0, 4095, 2, 4096, 4096, 2, 1, math.MaxInt64, 4)
+	edges := lists.Edges(0, 0, 3, 0, 1, -1, 1, 0, 1<<40, 2, 1, 0, -1, 0, 1, 0, 4095, 2, 4096, 4096, 2, 1, math.MaxInt64, 4)
 	floats := []float64{0, minZero, 1, 2147483648, 2147483649, -1, 0.5, noNum, inf, minInf, 1 << 63, -1 << 63, -1e300}
 	var all [][]float64
-	eachList(2, floats, func(w []float64) { all = append(all, w) })
+	lists.Each(2, floats, func(w []float64) { all = append(all, w) })
 	counts := map[api.Errno]int{}
-	eachList(2, edges, func(l []api.Edge) {
+	lists.Each(2, edges, func(l []api.Edge) {
 		for _, w := range all {
 			for _, n := range []int{math.MinInt, -1, 0, 1, 2, 3, 4096, 4097, math.MaxInt} {
 				counts[checkFloats(t, n, l, w)]++
@@ -559,11 +536,11 @@ func TestFloatsOfManyEdges(t *testing.T) {
 func TestFloatsOfEachWeight(t *testing.T) {
 	for k := range 32 {
 		for _, off := range []float64{-1, -0.5, 0, 0.5, 1} {
-			checkFloats(t, 2, listOf(0, 1, math.MinInt64), []float64{float64(int64(1)<<k) + off})
+			checkFloats(t, 2, lists.Edges(0, 1, math.MinInt64), []float64{float64(int64(1)<<k) + off})
 		}
 	}
 	for w := range int64(3000) {
-		checkText(t, "Floats", first(Floats(2, listOf(1, 0, -w), []float64{float64(w)})), fmt.Sprintf("graph 2 1\n1 0 %d\n", w))
+		checkText(t, "Floats", first(Floats(2, lists.Edges(1, 0, -w), []float64{float64(w)})), fmt.Sprintf("graph 2 1\n1 0 %d\n", w))
 	}
 }
 
@@ -603,7 +580,7 @@ func TestFloatsAtEachPlace(t *testing.T) {
 // P18.3: as many edges as there may be, and one more, which is looked at behind their floats and ahead of their vertices.
 func TestFloatsOfMostEdges(t *testing.T) {
 	const m = api.MaxM
-	l, w := slices.Repeat(listOf(1, 0, -8), m+1), slices.Repeat([]float64{30}, m+1)
+	l, w := slices.Repeat(lists.Edges(1, 0, -8), m+1), slices.Repeat([]float64{30}, m+1)
 	s, why, at := Floats(2, l[:m], w[:m])
 	if why != api.OK || at != 0 {
 		t.Errorf("%d, %d", why, at)
@@ -623,7 +600,7 @@ func TestFloatsOfMostEdges(t *testing.T) {
 
 // P18.3, P4: the lists are left as they were, and what lies behind them is neither read nor written.
 func TestListsAreLeftAlone(t *testing.T) {
-	l := listOf(2, 0, 7, 1, 1, -3, 9, 9, 9, -1, 4, 4)
+	l := lists.Edges(2, 0, 7, 1, 1, -3, 9, 9, 9, -1, 4, 4)
 	w := []float64{4, minZero, 0.5, 6}
 	keptL, keptW := slices.Clone(l), slices.Clone(w)
 	for range 2 {

@@ -7,6 +7,7 @@ import (
 
 	"strait/api"
 	"strait/edge"
+	"strait/lists"
 	"strait/scatter"
 )
 
@@ -15,15 +16,6 @@ var beyond = []int{math.MinInt, math.MinInt + 1, -1 << 32, -api.MaxN, -2, -1, ap
 
 // table is what vertices weigh to each other, both ways: a graph told without any edges.
 type table [][]int64
-
-// listOf writes a list in short, each edge by three numbers.
-func listOf(l ...int64) []api.Edge {
-	var all []api.Edge
-	for i := 0; i < len(l); i += 3 {
-		all = append(all, api.Edge{U: int(l[i]), V: int(l[i+1]), W: l[i+2]})
-	}
-	return all
-}
 
 // tableOf adds what each edge of l weighs, one by one.
 func tableOf(n int, l []api.Edge) table {
@@ -154,24 +146,6 @@ func checkBeyond(t *testing.T, g *Net) {
 	}
 }
 
-// eachList hands on all lists of up to n of these edges. The list is the same memory each time.
-func eachList(n int, of []api.Edge, see func(l []api.Edge)) {
-	l := make([]api.Edge, 0, n)
-	var from func()
-	from = func() {
-		see(l)
-		if len(l) == n {
-			return
-		}
-		for _, e := range of {
-			l = append(l, e)
-			from()
-			l = l[:len(l)-1]
-		}
-	}
-	from()
-}
-
 // turned is the list backwards, with every second edge the other way round.
 func turned(l []api.Edge) []api.Edge {
 	l = slices.Clone(l)
@@ -186,16 +160,16 @@ func turned(l []api.Edge) []api.Edge {
 
 // P16.1, P16.2: the chapter's example.
 func TestExample(t *testing.T) {
-	g := made(t, 2, listOf(0, 1, 2, 0, 1, 3))
-	if g.M() != 1 || !slices.Equal(g.Edges(), listOf(0, 1, 5)) || g.Total() != 5 {
+	g := made(t, 2, lists.Edges(0, 1, 2, 0, 1, 3))
+	if g.M() != 1 || !slices.Equal(g.Edges(), lists.Edges(0, 1, 5)) || g.Total() != 5 {
 		t.Errorf("%d edges, %v", g.M(), g.Edges())
 	}
 }
 
 // P16.1, P16.2: a graph that is written down.
 func TestWritten(t *testing.T) {
-	g := made(t, 5, listOf(3, 0, 2, 2, 2, 9, 1, 0, 4, 0, 3, 5, 4, 1, 0, 3, 1, 1))
-	if g.N() != 5 || g.M() != 3 || !slices.Equal(g.Edges(), listOf(0, 1, 4, 0, 3, 7, 1, 3, 1)) || g.Total() != 12 {
+	g := made(t, 5, lists.Edges(3, 0, 2, 2, 2, 9, 1, 0, 4, 0, 3, 5, 4, 1, 0, 3, 1, 1))
+	if g.N() != 5 || g.M() != 3 || !slices.Equal(g.Edges(), lists.Edges(0, 1, 4, 0, 3, 7, 1, 3, 1)) || g.Total() != 12 {
 		t.Errorf("%d vertices, %d edges, %v", g.N(), g.M(), g.Edges())
 	}
 	for v, want := range []struct {
@@ -213,8 +187,8 @@ func TestWritten(t *testing.T) {
 
 // P16.1 to P16.3: all short lists of edges that may be, of few vertices.
 func TestShortLists(t *testing.T) {
-	of := listOf(0, 1, 1, 1, 0, 2, 1, 1, 5, 2, 0, 3, 1, 2, 0, 2, 1, 4)
-	eachList(4, of, func(l []api.Edge) {
+	of := lists.Edges(0, 1, 1, 1, 0, 2, 1, 1, 5, 2, 0, 3, 1, 2, 0, 2, 1, 4)
+	lists.Each(4, of, func(l []api.Edge) {
 		for n := 3; n < 5; n++ {
 			before := slices.Clone(l)
 			g := made(t, n, l)
@@ -244,8 +218,8 @@ func wantError(n int, l []api.Edge) (api.Errno, int) {
 
 // P16.1, P2: all short lists of edges of which some can't be, of each number of vertices.
 func TestErrorsOfShortLists(t *testing.T) {
-	of := listOf(0, 0, 1, 0, 1, api.MaxW, 1, 2, 1, 2, 0, -1, 0, 1, api.MaxW+1, -1, 1, 3, 0, -1, -1, 0, 0, -1)
-	eachList(3, of, func(l []api.Edge) {
+	of := lists.Edges(0, 0, 1, 0, 1, api.MaxW, 1, 2, 1, 2, 0, -1, 0, 1, api.MaxW+1, -1, 1, 3, 0, -1, -1, 0, 0, -1)
+	lists.Each(3, of, func(l []api.Edge) {
 		for n := -2; n < 4; n++ {
 			why, at := wantError(n, l)
 			if why != api.OK {
@@ -375,7 +349,7 @@ func TestHeaviest(t *testing.T) {
 		l[i] = api.Edge{U: 3, V: 1, W: api.MaxW}
 	}
 	g := made(t, 4, l)
-	if !slices.Equal(g.Edges(), listOf(1, 3, 1<<51)) || g.Weight(1, 3) != 1<<51 || g.Weight(3, 1) != 1<<51 || g.Total() != 1<<51 {
+	if !slices.Equal(g.Edges(), lists.Edges(1, 3, 1<<51)) || g.Weight(1, 3) != 1<<51 || g.Weight(3, 1) != 1<<51 || g.Total() != 1<<51 {
 		t.Errorf("of one pair: %v", g.Edges())
 	}
 	checkGraph(t, g, tableOf(4, l))
@@ -410,7 +384,7 @@ func TestNil(t *testing.T) {
 func TestSame(t *testing.T) {
 	var graphs []*Net
 	var tables []table
-	eachList(2, listOf(0, 1, 1, 1, 0, 1, 0, 1, 2, 0, 0, 1, 1, 0, 0, 2, 0, 1, 1, 2, 1), func(l []api.Edge) {
+	lists.Each(2, lists.Edges(0, 1, 1, 1, 0, 1, 0, 1, 2, 0, 0, 1, 1, 0, 0, 2, 0, 1, 1, 2, 1), func(l []api.Edge) {
 		for n := 3; n < 5; n++ {
 			graphs = append(graphs, made(t, n, l))
 			tables = append(tables, tableOf(n, l))
@@ -445,7 +419,7 @@ func TestSameOfLongLists(t *testing.T) {
 
 // P4: the list is not kept, and what lies behind its length is neither read nor written.
 func TestListsAreNotKept(t *testing.T) {
-	behind := listOf(0, 1, 5, 2, 1, 3, 1, 1, 4, 0, 7, -1, 0, 2, 8)
+	behind := lists.Edges(0, 1, 5, 2, 1, 3, 1, 1, 4, 0, 7, -1, 0, 2, 8)
 	want := tableOf(3, behind[:3])
 	before := slices.Clone(behind)
 	g := made(t, 3, behind[:3])
@@ -458,7 +432,7 @@ func TestListsAreNotKept(t *testing.T) {
 	}
 	checkGraph(t, g, want)
 	// Edges that are merged already are not kept either.
-	merged := listOf(0, 1, 5, 0, 2, 3, 1, 2, 8)
+	merged := lists.Edges(0, 1, 5, 0, 2, 3, 1, 2, 8)
 	want = tableOf(3, merged)
 	g = made(t, 3, merged)
 	clear(merged)
@@ -497,11 +471,11 @@ func TestAnswersAreNewMemory(t *testing.T) {
 
 // P4: graphs of one list do not share what they tell of.
 func TestGraphsAreTheirOwn(t *testing.T) {
-	l := listOf(0, 1, 5, 0, 2, 3)
+	l := lists.Edges(0, 1, 5, 0, 2, 3)
 	g := made(t, 3, l)
 	l[1].W = 4
 	h := made(t, 4, l)
-	checkGraph(t, g, tableOf(3, listOf(0, 1, 5, 0, 2, 3)))
+	checkGraph(t, g, tableOf(3, lists.Edges(0, 1, 5, 0, 2, 3)))
 	checkGraph(t, h, tableOf(4, l))
 }
 

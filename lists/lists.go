@@ -1,0 +1,32 @@
+// Package lists writes lists of edges in short and makes all short lists, for the tests of all layers.
+package lists
+
+import (
+	"slices"
+
+	"strait/api"
+)
+
+// Edges are the edges that the numbers tell, three each: both ends, and what the edge weighs. What is left over of a last edge does not count.
+func Edges(numbers ...int64) []api.Edge {
+	var l []api.Edge
+	for ; len(numbers) >= 3; numbers = numbers[3:] {
+		l = append(l, api.Edge{U: int(numbers[0]), V: int(numbers[1]), W: numbers[2]})
+	}
+	return l
+}
+
+// Each hands on all lists of up to n of these things, each in memory of its own.
+func Each[T any](n int, things []T, see func(l []T)) {
+	var from func(l []T)
+	from = func(l []T) {
+		see(l)
+		if len(l) >= n {
+			return
+		}
+		for _, x := range things {
+			from(append(slices.Clone(l), x))
+		}
+	}
+	from(nil)
+}
