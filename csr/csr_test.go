@@ -7,6 +7,7 @@ import (
 	"testing"
 
 	"strait/api"
+	"strait/graphs"
 	"strait/lists"
 	"strait/net"
 	"strait/scatter"
@@ -19,16 +20,6 @@ var beyond = []int{math.MinInt, math.MinInt + 1, math.MinInt32, -1 << 32, -1<<32
 type arc struct {
 	tail, head int
 	cap        int64
-}
-
-// graphOf is the graph, where there has to be one.
-func graphOf(t *testing.T, n int, l []api.Edge) *net.Net {
-	t.Helper()
-	g, why, at := net.New(n, l)
-	if g == nil {
-		t.Fatalf("New(%d, %d edges) is %d, %d", n, len(l), why, at)
-	}
-	return g
 }
 
 // wantArcs are the two arcs of each edge, in order.
@@ -113,7 +104,7 @@ func checkBeyond(t *testing.T, a *Arcs) {
 
 // P19.1, P19.2: the chapter's example.
 func TestExample(t *testing.T) {
-	a := New(graphOf(t, 2, lists.Edges(0, 1, 5)))
+	a := New(graphs.Of(t, 2, lists.Edges(0, 1, 5)))
 	if a.Tail(0) != 0 || a.Head(0) != 1 || a.Tail(1) != 1 || a.Head(1) != 0 || a.Cap(0) != 5 || a.Cap(1) != 5 {
 		t.Error("arcs 0 and 1")
 	}
@@ -125,7 +116,7 @@ func TestExample(t *testing.T) {
 
 // P19.1: arcs that are written down; the graph's edges are 0 1, 0 3, 1 3 and 2 3, merged.
 func TestWritten(t *testing.T) {
-	a := New(graphOf(t, 6, lists.Edges(3, 2, 9, 3, 0, 2, 2, 2, 9, 1, 0, 4, 0, 3, 5, 4, 1, 0, 3, 1, 1<<31)))
+	a := New(graphs.Of(t, 6, lists.Edges(3, 2, 9, 3, 0, 2, 2, 2, 9, 1, 0, 4, 0, 3, 5, 4, 1, 0, 3, 1, 1<<31)))
 	if a.N() != 6 || a.Len() != 8 {
 		t.Fatalf("%d vertices, %d arcs", a.N(), a.Len())
 	}
@@ -146,7 +137,7 @@ func TestWritten(t *testing.T) {
 func TestShortLists(t *testing.T) {
 	lists.Each(4, lists.Edges(0, 1, 1, 2, 1, 1<<31, 1, 1, 5, 0, 3, 1, 2, 0, 2, 1, 3, 0, 2, 3, 7), func(l []api.Edge) {
 		for n := 4; n < 6; n++ {
-			g := graphOf(t, n, l)
+			g := graphs.Of(t, n, l)
 			checkArcs(t, New(g), n, g.Edges())
 		}
 	})
@@ -156,7 +147,7 @@ func TestShortLists(t *testing.T) {
 func TestManyEdges(t *testing.T) {
 	for _, c := range []struct{ n, m int }{{1, 9}, {2, 50}, {5, 3}, {7, 200}, {30, 40}, {64, 64}, {65, 4000}, {200, 150}, {150, 20000}} {
 		for seed := range uint64(4) {
-			g := graphOf(t, c.n, scatter.Edges(seed, c.n, c.m))
+			g := graphs.Of(t, c.n, scatter.Edges(seed, c.n, c.m))
 			checkArcs(t, New(g), c.n, g.Edges())
 		}
 	}
@@ -171,7 +162,7 @@ func TestAllPairs(t *testing.T) {
 				l = append(l, api.Edge{U: v, V: u, W: int64(n*v + u + 1)})
 			}
 		}
-		g := graphOf(t, n, l)
+		g := graphs.Of(t, n, l)
 		a := New(g)
 		checkArcs(t, a, n, g.Edges())
 		for v := range n {
@@ -184,20 +175,20 @@ func TestAllPairs(t *testing.T) {
 
 // P19.1, P19.3: as many vertices as there may be: alone, all around each one of some, and with edges all over.
 func TestMostVertices(t *testing.T) {
-	checkArcs(t, New(graphOf(t, api.MaxN, nil)), api.MaxN, nil)
+	checkArcs(t, New(graphs.Of(t, api.MaxN, nil)), api.MaxN, nil)
 	for _, middle := range []int{0, 1, 2047, api.MaxN - 1} {
 		var l []api.Edge
 		for v := range api.MaxN {
 			l = append(l, api.Edge{U: v, V: middle, W: int64(v) + 1})
 		}
-		g := graphOf(t, api.MaxN, l)
+		g := graphs.Of(t, api.MaxN, l)
 		a := New(g)
 		checkArcs(t, a, api.MaxN, g.Edges())
 		if a.Len() != 2*(api.MaxN-1) || len(a.Out(middle)) != api.MaxN-1 {
 			t.Errorf("%d arcs, %d around %d", a.Len(), len(a.Out(middle)), middle)
 		}
 	}
-	g := graphOf(t, api.MaxN, scatter.Edges(5, api.MaxN, 1<<16))
+	g := graphs.Of(t, api.MaxN, scatter.Edges(5, api.MaxN, 1<<16))
 	checkArcs(t, New(g), api.MaxN, g.Edges())
 }
 
@@ -210,7 +201,7 @@ func TestMostArcs(t *testing.T) {
 			l = append(l, api.Edge{U: v, V: u, W: int64(len(l)) + 1})
 		}
 	}
-	g := graphOf(t, n, l)
+	g := graphs.Of(t, n, l)
 	a := New(g)
 	if a.Len() != 2*api.MaxM {
 		t.Fatalf("%d arcs", a.Len())
@@ -220,7 +211,7 @@ func TestMostArcs(t *testing.T) {
 
 // P19.1: arcs may carry as much as an edge may weigh that was merged of many.
 func TestHeaviest(t *testing.T) {
-	g := graphOf(t, 4, slices.Repeat(lists.Edges(3, 1, api.MaxW), api.MaxM))
+	g := graphs.Of(t, 4, slices.Repeat(lists.Edges(3, 1, api.MaxW), api.MaxM))
 	a := New(g)
 	if a.Len() != 2 || a.Cap(0) != 1<<51 || a.Cap(1) != 1<<51 {
 		t.Errorf("%d arcs of %d and %d", a.Len(), a.Cap(0), a.Cap(1))
@@ -233,11 +224,11 @@ func TestNone(t *testing.T) {
 	checkArcs(t, nil, 0, nil)
 	checkArcs(t, New(nil), 0, nil)
 	for n := range 5 {
-		checkArcs(t, New(graphOf(t, n, nil)), n, nil)
-		checkArcs(t, New(graphOf(t, n, make([]api.Edge, n))), n, nil)
+		checkArcs(t, New(graphs.Of(t, n, nil)), n, nil)
+		checkArcs(t, New(graphs.Of(t, n, make([]api.Edge, n))), n, nil)
 	}
 	for i := -5; i < 5; i++ {
-		for _, a := range []*Arcs{nil, New(nil), New(graphOf(t, 0, nil))} {
+		for _, a := range []*Arcs{nil, New(nil), New(graphs.Of(t, 0, nil))} {
 			if a.N() != 0 || a.Len() != 0 || len(a.Out(i)) != 0 || a.Tail(i) != -1 || a.Head(i) != -1 || a.Cap(i) != 0 {
 				t.Errorf("%d: %v", i, a)
 			}
@@ -294,7 +285,7 @@ func TestBackAndEdgeOfNone(t *testing.T) {
 
 // P4: what is answered is new memory, up to its capacity.
 func TestAnswersAreNewMemory(t *testing.T) {
-	g := graphOf(t, 20, scatter.Edges(3, 20, 90))
+	g := graphs.Of(t, 20, scatter.Edges(3, 20, 90))
 	a := New(g)
 	for v := range 20 {
 		for _, out := range [][]int{a.Out(v), a.Out(v)} {
@@ -314,7 +305,7 @@ func TestAnswersAreNewMemory(t *testing.T) {
 // P4: the graph is not changed, and arcs of one graph do not share what they tell of.
 func TestGraphIsNotChanged(t *testing.T) {
 	l := scatter.Edges(4, 30, 200)
-	g, twin := graphOf(t, 30, l), graphOf(t, 30, l)
+	g, twin := graphs.Of(t, 30, l), graphs.Of(t, 30, l)
 	a, b := New(g), New(g)
 	for v := range 30 {
 		clear(a.Out(v))
@@ -330,7 +321,7 @@ func TestGraphIsNotChanged(t *testing.T) {
 
 // P5: what is told is the same each time, whatever was asked ahead.
 func TestAgain(t *testing.T) {
-	g := graphOf(t, 40, scatter.Edges(6, 40, 300))
+	g := graphs.Of(t, 40, scatter.Edges(6, 40, 300))
 	a := New(g)
 	for range 20 {
 		checkArcs(t, a, 40, g.Edges())
@@ -345,7 +336,7 @@ func TestAgain(t *testing.T) {
 
 // Each vertex's part of the one list has room for its own arcs alone, so that nothing that is put into it comes into the next one's.
 func TestParts(t *testing.T) {
-	a := New(graphOf(t, 50, scatter.Edges(9, 50, 400)))
+	a := New(graphs.Of(t, 50, scatter.Edges(9, 50, 400)))
 	for v, part := range a.out {
 		if cap(part) != len(part) {
 			t.Errorf("%d: room for %d, not %d", v, cap(part), len(part))

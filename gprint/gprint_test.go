@@ -8,6 +8,7 @@ import (
 	"testing"
 
 	"strait/api"
+	"strait/graphs"
 	"strait/gread"
 	"strait/lists"
 	"strait/net"
@@ -152,16 +153,6 @@ func short(s string) string {
 	return s
 }
 
-// made is the graph of these edges, where there has to be one.
-func made(t *testing.T, n int, l []api.Edge) *net.Net {
-	t.Helper()
-	g, why, at := net.New(n, l)
-	if g == nil || why != api.OK || at != 0 {
-		t.Fatalf("no graph of %d vertices and %d edges: %d, %d", n, len(l), why, at)
-	}
-	return g
-}
-
 // checkText holds a text against another one, and tells where they part.
 func checkText(t *testing.T, what, got, want string) {
 	t.Helper()
@@ -232,8 +223,8 @@ func weightsOf(seed uint64, m int) []float64 {
 
 // P18.1: the chapter's example, and the document's of two edges of 2^31.
 func TestExamples(t *testing.T) {
-	checkText(t, "Print", Print(made(t, 2, lists.Edges(0, 1, 5))), "graph 2 1\n0 1 5\n")
-	checkText(t, "Print", Print(made(t, 2, lists.Edges(0, 1, 2147483648, 0, 1, 2147483648))), "graph 2 2\n0 1 2147483648\n0 1 2147483648\n")
+	checkText(t, "Print", Print(graphs.Of(t, 2, lists.Edges(0, 1, 5))), "graph 2 1\n0 1 5\n")
+	checkText(t, "Print", Print(graphs.Of(t, 2, lists.Edges(0, 1, 2147483648, 0, 1, 2147483648))), "graph 2 2\n0 1 2147483648\n0 1 2147483648\n")
 }
 
 // P18.1, P18.2: texts that are written down.
@@ -260,7 +251,7 @@ func TestTexts(t *testing.T) {
 		{2, lists.Edges(0, 1, 2147483648, 0, 1, 1), "graph 2 2\n0 1 2147483648\n0 1 1\n", "graph {\n0 -- 1 [2147483649];\n}\n", "0 2147483649\n2147483649 0\n"},
 		{3, lists.Edges(2, 1, 2147483647, 1, 2, 2147483647, 0, 1, 7), "graph 3 3\n0 1 7\n1 2 2147483648\n1 2 2147483646\n", "graph {\n0 -- 1 [7];\n1 -- 2 [4294967294];\n}\n", "0 7 0\n7 0 4294967294\n0 4294967294 0\n"},
 	} {
-		g := made(t, c.n, c.l)
+		g := graphs.Of(t, c.n, c.l)
 		checkText(t, "Print", Print(g), c.print)
 		checkText(t, "Dot", Dot(g), c.dot)
 		checkText(t, "Rows", Rows(g), c.rows)
@@ -273,13 +264,13 @@ func TestNil(t *testing.T) {
 	checkText(t, "Print", Print(nil), "")
 	checkText(t, "Dot", Dot(nil), "")
 	checkText(t, "Rows", Rows(nil), "")
-	checkReadAgain(t, made(t, 0, nil))
+	checkReadAgain(t, graphs.Of(t, 0, nil))
 }
 
 // P18.1, P18.2, P18.4: all graphs of up to four vertices whose edges weigh something of a few kinds.
 func TestSmallGraphs(t *testing.T) {
 	weights := []int64{0, 1, 10, 2147483648, 2147483649}
-	graphs := 0
+	count := 0
 	for n := range 5 {
 		pairs := n * (n - 1) / 2
 		lists.Each(pairs, weights, func(l []int64) {
@@ -296,12 +287,12 @@ func TestSmallGraphs(t *testing.T) {
 					i++
 				}
 			}
-			checkGraph(t, made(t, n, pieces(merged)), n, merged)
-			graphs++
+			checkGraph(t, graphs.Of(t, n, pieces(merged)), n, merged)
+			count++
 		})
 	}
-	if graphs != 1+1+5+125+15625 {
-		t.Errorf("%d graphs", graphs)
+	if count != 1+1+5+125+15625 {
+		t.Errorf("%d graphs", count)
 	}
 }
 
@@ -310,7 +301,7 @@ func TestManyEdges(t *testing.T) {
 	for _, c := range []struct{ n, m int }{{1, 9}, {2, 50}, {3, 1}, {5, 3}, {7, 200}, {12, 6}, {30, 40}, {65, 4000}, {200, 150}, {150, 20000}, {1001, 3000}} {
 		for seed := range uint64(3) {
 			l := scatter.Edges(seed, c.n, c.m)
-			checkGraph(t, made(t, c.n, l), c.n, added(c.n, l))
+			checkGraph(t, graphs.Of(t, c.n, l), c.n, added(c.n, l))
 		}
 	}
 }
@@ -318,12 +309,12 @@ func TestManyEdges(t *testing.T) {
 // P18.1, P18.4: in whatever order edges came, and either way round, their graph's text is the same.
 func TestOrderOfEdges(t *testing.T) {
 	l := scatter.Edges(9, 30, 300)
-	s := Print(made(t, 30, l))
+	s := Print(graphs.Of(t, 30, l))
 	for i := range l {
 		l[i].U, l[i].V = l[i].V, l[i].U
 		j := scatter.Below(uint64(i), 1, len(l))[0]
 		l[i], l[j] = l[j], l[i]
-		checkText(t, "Print", Print(made(t, 30, l)), s)
+		checkText(t, "Print", Print(graphs.Of(t, 30, l)), s)
 	}
 }
 
@@ -337,9 +328,9 @@ func TestHeavyEdges(t *testing.T) {
 				continue
 			}
 			merged := lists.Edges(0, 1, w)
-			checkGraph(t, made(t, 2, pieces(merged)), 2, merged)
+			checkGraph(t, graphs.Of(t, 2, pieces(merged)), 2, merged)
 			merged = lists.Edges(0, 3, 5, 1, 2, w, 1, 4, most, 2, 3, w+1, 2, 4, 1)
-			checkGraph(t, made(t, 6, pieces(merged)), 6, merged)
+			checkGraph(t, graphs.Of(t, 6, pieces(merged)), 6, merged)
 		}
 	}
 }
@@ -347,12 +338,12 @@ func TestHeavyEdges(t *testing.T) {
 // P18.1, P18.2: the heaviest edge that there can be takes as many lines as a text may have.
 func TestHeaviestEdge(t *testing.T) {
 	const m = api.MaxM
-	g := made(t, 2, slices.Repeat(lists.Edges(1, 0, api.MaxW), m))
+	g := graphs.Of(t, 2, slices.Repeat(lists.Edges(1, 0, api.MaxW), m))
 	checkText(t, "Print", Print(g), "graph 2 1048576\n"+strings.Repeat("0 1 2147483648\n", m))
 	checkText(t, "Dot", Dot(g), "graph {\n0 -- 1 [2251799813685248];\n}\n")
 	checkText(t, "Rows", Rows(g), "0 2251799813685248\n2251799813685248 0\n")
 	checkReadAgain(t, g)
-	g = made(t, 3, append(slices.Repeat(lists.Edges(2, 0, api.MaxW), m-2), lists.Edges(1, 0, api.MaxW, 0, 2, 3)...))
+	g = graphs.Of(t, 3, append(slices.Repeat(lists.Edges(2, 0, api.MaxW), m-2), lists.Edges(1, 0, api.MaxW, 0, 2, 3)...))
 	checkText(t, "Print", Print(g), "graph 3 1048576\n0 1 2147483648\n"+strings.Repeat("0 2 2147483648\n", m-2)+"0 2 3\n")
 	checkReadAgain(t, g)
 }
@@ -361,7 +352,7 @@ func TestHeaviestEdge(t *testing.T) {
 func TestNoEdges(t *testing.T) {
 	lone := ""
 	for n := range 4097 {
-		g := made(t, n, nil)
+		g := graphs.Of(t, n, nil)
 		checkText(t, "Print", Print(g), fmt.Sprintf("graph %d 0\n", n))
 		checkText(t, "Dot", Dot(g), "graph {\n"+lone+"}\n")
 		if n < 70 || n == 4096 {
@@ -375,7 +366,7 @@ func TestNoEdges(t *testing.T) {
 // P18.1, P18.2, P18.4: as many vertices as there may be, the first and the last ones in edges.
 func TestMostVertices(t *testing.T) {
 	merged := lists.Edges(0, 1, 7, 0, 4095, 2147483649, 2000, 2001, 1, 4094, 4095, 12)
-	g := made(t, 4096, pieces(merged))
+	g := graphs.Of(t, 4096, pieces(merged))
 	checkText(t, "Print", Print(g), "graph 4096 5\n0 1 7\n0 4095 2147483648\n0 4095 1\n2000 2001 1\n4094 4095 12\n")
 	checkText(t, "Dot", Dot(g), wantDot(4096, merged))
 	checkText(t, "Rows", Rows(g), wantRows(4096, merged))
@@ -391,7 +382,7 @@ func TestMostEdges(t *testing.T) {
 			merged = append(merged, api.Edge{U: u, V: v, W: int64(1 + (u+7*v)%3000)})
 		}
 	}
-	checkGraph(t, made(t, n, merged), n, merged)
+	checkGraph(t, graphs.Of(t, n, merged), n, merged)
 }
 
 // P18.1: a graph whose text is longer than a text that is read may be has that text all the same.
@@ -402,7 +393,7 @@ func TestLongestText(t *testing.T) {
 			merged = append(merged, api.Edge{U: u, V: v, W: api.MaxW})
 		}
 	}
-	g := made(t, 4096, merged)
+	g := graphs.Of(t, 4096, merged)
 	s := Print(g)
 	checkText(t, "Print", s, wantText(4096, g.Edges()))
 	if len(s) != len("graph 4096 1048576\n")+api.MaxM*len("1000 1001 2147483648\n") {
@@ -525,7 +516,7 @@ func TestFloatsOfManyEdges(t *testing.T) {
 			}
 			s, _, _ := Floats(c.n, l, w)
 			g, why, line := gread.Read(s)
-			if why != api.OK || line != 0 || !net.Same(g, made(t, c.n, l)) {
+			if why != api.OK || line != 0 || !net.Same(g, graphs.Of(t, c.n, l)) {
 				t.Fatalf("%v: %d, %d", c, why, line)
 			}
 		}
@@ -618,14 +609,14 @@ func TestListsAreLeftAlone(t *testing.T) {
 // P5: a text hangs on the graph alone, not on what was told ahead, nor on which of two that are the same it is.
 func TestTextsAgain(t *testing.T) {
 	l := scatter.Edges(5, 40, 200)
-	g, h := made(t, 40, l), made(t, 40, added(40, l)[:3])
+	g, h := graphs.Of(t, 40, l), graphs.Of(t, 40, added(40, l)[:3])
 	texts := []string{Print(g), Dot(g), Rows(g)}
 	for range 3 {
 		checkNoFloats(t, 40, l, nil, api.ErrArg, 0)
 		Print(h)
 		Dot(nil)
 		Rows(h)
-		for _, same := range []*net.Net{g, made(t, 40, l), made(t, 40, pieces(g.Edges()))} {
+		for _, same := range []*net.Net{g, graphs.Of(t, 40, l), graphs.Of(t, 40, pieces(g.Edges()))} {
 			checkText(t, "Print", Print(same), texts[0])
 			checkText(t, "Dot", Dot(same), texts[1])
 			checkText(t, "Rows", Rows(same), texts[2])
