@@ -602,10 +602,10 @@ func TestAnswersAreNewMemory(t *testing.T) {
 		if len(sides) < 3 {
 			t.Fatalf("%v weigh %d", sides, weight)
 		}
-		spoil(sides[i%len(sides)])
-		spoil(rows[i%n])
-		spoil(least.Side)
-		spoil(pair.Side)
+		lists.Spoil(sides[i%len(sides)])
+		lists.Spoil(rows[i%n])
+		lists.Spoil(least.Side)
+		lists.Spoil(pair.Side)
 		for at := range sides {
 			if at != i%len(sides) && !slices.Equal(sides[at], wantSides[at]) {
 				t.Fatalf("%v became %v", wantSides[at], sides[at])
@@ -631,14 +631,6 @@ func cloned[T any](all [][]T) [][]T {
 		l = append(l, slices.Clone(x))
 	}
 	return l
-}
-
-// spoil writes over the list up to its capacity.
-func spoil[T int | int64](l []T) {
-	l = l[:cap(l)]
-	for i := range l {
-		l[i] = -8
-	}
 }
 
 // P5: what is told is the same each time, whatever was asked ahead, and of whatever graph.

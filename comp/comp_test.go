@@ -480,27 +480,19 @@ func TestNone(t *testing.T) {
 	}
 }
 
-// spoil writes over all of l, up to its capacity.
-func spoil(l []int) {
-	l = l[:cap(l)]
-	for i := range l {
-		l[i] = -7
-	}
-}
-
 // P4: what is answered is new memory, up to its capacity, and the graph is not changed.
 func TestAnswersAreNewMemory(t *testing.T) {
 	l := scatter.Edges(3, 40, 45)
 	g, twin := graphs.Of(t, 40, l), graphs.Of(t, 40, l)
 	for range 3 {
-		spoil(Name(g))
-		spoil(Bridges(g))
+		lists.Spoil(Name(g))
+		lists.Spoil(Bridges(g))
 		for v := range 40 {
-			spoil(Reach(g, v))
+			lists.Spoil(Reach(g, v))
 		}
 		for _, classes := range [][][]int{Of(g), Heavy(g, 1000)} {
 			for _, class := range classes {
-				spoil(class)
+				lists.Spoil(class)
 			}
 		}
 		clear(Of(g))
@@ -517,14 +509,14 @@ func TestClassesShareNone(t *testing.T) {
 	g := graphs.Of(t, 40, scatter.Edges(3, 40, 45))
 	for _, classes := range [][][]int{Of(g), Heavy(g, 1000)} {
 		for i, class := range classes {
-			spoil(class)
+			lists.Spoil(class)
 			for _, other := range classes[i+1:] {
-				if slices.Contains(other, -7) {
+				if slices.Contains(other, lists.Spoilt) {
 					t.Fatalf("%d reaches into the next ones", i)
 				}
 			}
 			for j := range class {
-				class[j] = -8
+				class[j] = -7
 			}
 		}
 	}

@@ -289,10 +289,7 @@ func TestAnswersAreNewMemory(t *testing.T) {
 	a := New(g)
 	for v := range 20 {
 		for _, out := range [][]int{a.Out(v), a.Out(v)} {
-			out = out[:cap(out)]
-			for i := range out {
-				out[i] = -7
-			}
+			lists.Spoil(out)
 		}
 		first, second := append(a.Out(v), 70), append(a.Out(v), 71)
 		if first[len(first)-1] != 70 || second[len(second)-1] != 71 {

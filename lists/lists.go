@@ -1,4 +1,4 @@
-// Package lists writes lists of edges in short and makes all short lists, for the tests of all layers.
+// Package lists writes lists of edges in short, makes all short lists and spoils lists, for the tests of all layers.
 package lists
 
 import (
@@ -6,6 +6,9 @@ import (
 
 	"strait/api"
 )
+
+// Spoilt is what stands in lists that are spoilt: no vertex, no place and no weight.
+const Spoilt = -8
 
 // Edges are the edges that the numbers tell, three each: both ends, and what the edge weighs. What is left over of a last edge does not count.
 func Edges(numbers ...int64) []api.Edge {
@@ -29,4 +32,12 @@ func Each[T any](n int, things []T, see func(l []T)) {
 		}
 	}
 	from(nil)
+}
+
+// Spoil writes over the list up to its capacity, so that whatever shares memory with it is another one from then on.
+func Spoil[T int | int64](l []T) {
+	l = l[:cap(l)]
+	for i := range l {
+		l[i] = Spoilt
+	}
 }

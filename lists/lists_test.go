@@ -44,3 +44,18 @@ func TestEach(t *testing.T) {
 		t.Errorf("of none: %d lists", count)
 	}
 }
+
+// All places of a list are spoilt, those behind its length too, and none ahead of it.
+func TestSpoil(t *testing.T) {
+	room := []int{1, 2, 3, 4, 5}
+	Spoil(room[1:2:4])
+	if !slices.Equal(room, []int{1, Spoilt, Spoilt, Spoilt, 5}) {
+		t.Errorf("%v", room)
+	}
+	weights := make([]int64, 1, 2)
+	Spoil(weights)
+	if !slices.Equal(weights[:2], []int64{Spoilt, Spoilt}) {
+		t.Errorf("%v", weights[:2])
+	}
+	Spoil[int](nil)
+}

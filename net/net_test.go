@@ -450,10 +450,7 @@ func TestAnswersAreNewMemory(t *testing.T) {
 	}
 	for v := range 20 {
 		for _, near := range [][]int{g.Near(v), g.Near(v)} {
-			near = near[:cap(near)]
-			for i := range near {
-				near[i] = -7
-			}
+			lists.Spoil(near)
 		}
 		first := append(g.Near(v), 70)
 		second := append(g.Near(v), 71)

@@ -5,6 +5,7 @@ import (
 	"slices"
 	"testing"
 
+	"strait/lists"
 	"strait/scatter"
 )
 
@@ -391,15 +392,9 @@ func TestNewMemory(t *testing.T) {
 		}
 		first, distinct := ints(), Distinct(keys)
 		for _, a := range first {
-			a = a[:cap(a)]
-			for i := range a {
-				a[i] = -7
-			}
+			lists.Spoil(a)
 		}
-		distinct = distinct[:cap(distinct)]
-		for i := range distinct {
-			distinct[i] = -7
-		}
+		lists.Spoil(distinct)
 		for which, a := range append(ints(), p, l) {
 			for i, x := range a {
 				if x != i {

@@ -548,10 +548,7 @@ func TestListsAreNotChanged(t *testing.T) {
 		}
 		// What was answered is new memory, up to its capacity.
 		for _, l := range [][]int{numbers, normal, cut.Side} {
-			l = l[:cap(l)]
-			for i := range l {
-				l[i] = -8
-			}
+			lists.Spoil(l)
 		}
 		if !slices.Equal(behind, before) {
 			t.Fatalf("%v became %v by what was answered", before, behind)
