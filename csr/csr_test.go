@@ -194,13 +194,7 @@ func TestMostVertices(t *testing.T) {
 
 // P19.1, P19.3: as many arcs as there may be, two of each of as many edges as there may be.
 func TestMostArcs(t *testing.T) {
-	const n = 1449 // n (n - 1) / 2 is just above 2^20
-	l := make([]api.Edge, 0, api.MaxM)
-	for v := n - 1; v >= 0; v-- {
-		for u := v - 1; u >= 0 && len(l) < api.MaxM; u-- {
-			l = append(l, api.Edge{U: v, V: u, W: int64(len(l)) + 1})
-		}
-	}
+	n, l := lists.Most()
 	g := graphs.Of(t, n, l)
 	a := New(g)
 	if a.Len() != 2*api.MaxM {

@@ -1,4 +1,4 @@
-// Package lists writes lists of edges in short, makes all short lists and spoils lists, for the tests of all layers.
+// Package lists writes lists of edges in short, makes all short lists and the longest one of edges, and spoils lists, for the tests of all layers.
 package lists
 
 import (
@@ -17,6 +17,18 @@ func Edges(numbers ...int64) []api.Edge {
 		l = append(l, api.Edge{U: int(numbers[0]), V: int(numbers[1]), W: numbers[2]})
 	}
 	return l
+}
+
+// Most are as many edges as there may be, of n vertices: no two of them of the same ones, the higher end first, and each heavier than the one ahead.
+func Most() (n int, l []api.Edge) {
+	n = 1449 // n (n - 1) / 2 is just above 2^20
+	l = make([]api.Edge, 0, api.MaxM)
+	for v := n - 1; v >= 0; v-- {
+		for u := v - 1; u >= 0 && len(l) < api.MaxM; u-- {
+			l = append(l, api.Edge{U: v, V: u, W: int64(len(l)) + 1})
+		}
+	}
+	return n, l
 }
 
 // Each hands on all lists of up to n of these things, each in memory of its own.

@@ -22,6 +22,21 @@ func TestEdges(t *testing.T) {
 	}
 }
 
+// As many edges as there may be are told, all of other pairs of vertices.
+func TestMost(t *testing.T) {
+	n, l := Most()
+	met := make([]bool, n*n)
+	for i, e := range l {
+		if e.V < 0 || e.V >= e.U || e.U >= n || e.W != int64(i)+1 || met[e.U*n+e.V] {
+			t.Fatalf("edge %d is %v", i, e)
+		}
+		met[e.U*n+e.V] = true
+	}
+	if n > api.MaxN || len(l) != api.MaxM {
+		t.Errorf("%d vertices, %d edges", n, len(l))
+	}
+}
+
 // All lists come, each once, and none is changed by a later one.
 func TestEach(t *testing.T) {
 	var all [][]int

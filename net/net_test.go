@@ -328,12 +328,9 @@ func TestMostVertices(t *testing.T) {
 
 // P16.1 to P16.3: as many edges as there may be, all of different pairs, each as heavy as may be.
 func TestMostEdges(t *testing.T) {
-	const n = 1449 // n (n - 1) / 2 is just above 2^20
-	l := make([]api.Edge, 0, api.MaxM)
-	for v := n - 1; v >= 0; v-- {
-		for u := v - 1; u >= 0 && len(l) < api.MaxM; u-- {
-			l = append(l, api.Edge{U: v, V: u, W: api.MaxW})
-		}
+	n, l := lists.Most()
+	for i := range l {
+		l[i].W = api.MaxW
 	}
 	g := made(t, n, l)
 	if g.M() != api.MaxM || g.Total() != 1<<51 {
